@@ -7,30 +7,15 @@ import (
 	"strings"
 
 	"gerund/api"
+	"gerund/specimen"
 )
 
-// drawer is numbers that look like drawn ones.
-type drawer uint64
-
-// below is one of the numbers below n.
-func (d *drawer) below(n int) int {
-	*d = *d*6364136223846793005 + 1442695040888963407
-	return int(*d>>33) % n
-}
+// drawer draws grammars of any names, and their texts.
+type drawer struct{ specimen.Drawer }
 
 // of is one of some texts.
 func (d *drawer) of(l ...string) string {
-	return l[d.below(len(l))]
-}
-
-// order is the numbers below n, in any order.
-func (d *drawer) order(n int) []int {
-	l := make([]int, n)
-	for i := range l {
-		j := d.below(i + 1)
-		l[i], l[j] = l[j], i
-	}
-	return l
+	return l[d.Below(len(l))]
 }
 
 // literals are all that there are.
@@ -47,9 +32,9 @@ func literals() []string {
 // name is one of at most so many bytes.
 func (d *drawer) name(most int) string {
 	const heads, tails = "abcxyzABCXYZ_", "abcxyzABCXYZ_0129..."
-	b := []byte{heads[d.below(len(heads))]}
-	for range most - 1 - d.below(min(most, 8)) {
-		b = append(b, tails[d.below(len(tails))])
+	b := []byte{heads[d.Below(len(heads))]}
+	for range most - 1 - d.Below(min(most, 8)) {
+		b = append(b, tails[d.Below(len(tails))])
 	}
 	return string(b)
 }
@@ -59,7 +44,7 @@ func (d *drawer) names(n, most int, mayBeLiteral bool, others []string) []string
 	var l []string
 	for len(l) < n {
 		s := d.name(most)
-		switch d.below(8) {
+		switch d.Below(8) {
 		case 0:
 			s = "error"
 		case 1, 2, 3:
@@ -76,14 +61,14 @@ func (d *drawer) names(n, most int, mayBeLiteral bool, others []string) []string
 
 // grammar is one that may be: so many terminals, nonterminals, and rules, no fewer than nonterminals, with names of at most so many bytes.
 func (d *drawer) grammar(terms, nons, rules, most int) api.Grammar {
-	g := api.Grammar{Terms: make([]api.Term, terms), Nons: d.names(nons, most, false, nil), Start: d.below(nons)}
+	g := api.Grammar{Terms: make([]api.Term, terms), Nons: d.names(nons, most, false, nil), Start: d.Below(nons)}
 	for i, s := range d.names(terms, most, true, g.Nons) {
 		g.Terms[i].Name = s
 	}
-	d.levels(g.Terms)
+	g.Terms = d.Levelled(g.Terms)
 	came := 0
 	for left := rules; left > 0; left-- {
-		r := api.Rule{Left: d.below(min(came+1, nons))}
+		r := api.Rule{Left: d.Below(min(came+1, nons))}
 		if left == nons-came {
 			r.Left = came
 		}
@@ -94,48 +79,32 @@ func (d *drawer) grammar(terms, nons, rules, most int) api.Grammar {
 	return g
 }
 
-// levels gives some terminals levels, from 1 on, none of which is left out.
-func (d *drawer) levels(l []api.Term) {
-	greatest := d.below(len(l) + 1)
-	ways := make([]int, greatest+1)
-	for i := range greatest {
-		ways[i+1] = 1 + d.below(3)
-	}
-	for i, at := range d.order(len(l)) {
-		level := i + 1
-		if level > greatest {
-			level = d.below(greatest + 1)
-		}
-		l[at].Level, l[at].Assoc = level, ways[level]
-	}
-}
-
 // right draws a rule's symbols, and its Prec.
 func (d *drawer) right(r *api.Rule, terms, nons int) {
-	for range d.below(7) {
-		r.Right = append(r.Right, d.below(terms+nons)-nons)
+	for range d.Below(7) {
+		r.Right = append(r.Right, d.Below(terms+nons)-nons)
 	}
-	r.Prec = lastOf(r.Right)
-	if terms > 0 && d.below(3) == 0 {
-		r.Prec = d.below(terms)
+	r.Prec = specimen.LastOf(r.Right)
+	if terms > 0 && d.Below(3) == 0 {
+		r.Prec = d.Below(terms)
 	}
 }
 
 // some is a grammar of any kind: small ones, such as have much, and such as have too much for a text.
 func (d *drawer) some() api.Grammar {
-	switch d.below(4) {
+	switch d.Below(4) {
 	case 0:
-		return d.grammar(d.below(3), 1, 1+d.below(3), 2)
+		return d.grammar(d.Below(3), 1, 1+d.Below(3), 2)
 	case 1:
-		nons := 1 + d.below(16)
-		g := d.grammar(d.below(25), nons, max(nons, 30+d.below(11)), 10+d.below(11))
-		for i, r := range g.Rules[:d.below(len(g.Rules))] {
-			g.Rules[i].Right = slices.Insert(r.Right, 0, slices.Repeat([]int{-1 - d.below(nons)}, 6-len(r.Right))...)
+		nons := 1 + d.Below(16)
+		g := d.grammar(d.Below(25), nons, max(nons, 30+d.Below(11)), 10+d.Below(11))
+		for i, r := range g.Rules[:d.Below(len(g.Rules))] {
+			g.Rules[i].Right = slices.Insert(r.Right, 0, slices.Repeat([]int{-1 - d.Below(nons)}, 6-len(r.Right))...)
 		}
 		return g
 	}
-	nons := 1 + d.below(6)
-	return d.grammar(d.below(25), nons, nons+d.below(12), 1+d.below(9))
+	nons := 1 + d.Below(6)
+	return d.grammar(d.Below(25), nons, nons+d.Below(12), 1+d.Below(9))
 }
 
 // written is a text of g's rules, in which its terminals come in another order, and much stands in other ways.
@@ -147,16 +116,16 @@ func (d *drawer) written(g api.Grammar) string {
 			b.WriteString(word + gap() + strings.Join(names, gap()) + gap())
 		}
 	}
-	if d.below(2) == 0 {
+	if d.Below(2) == 0 {
 		all("%start", g.Nons[g.Start:g.Start+1])
 	}
 	var tokens []string
-	for _, i := range d.order(len(g.Terms)) {
-		if t := g.Terms[i]; t.Level == 0 && t.Name[0] != '\'' && t.Name != "error" || d.below(2) == 0 {
+	for _, i := range d.Order(len(g.Terms)) {
+		if t := g.Terms[i]; t.Level == 0 && t.Name[0] != '\'' && t.Name != "error" || d.Below(2) == 0 {
 			tokens = append(tokens, t.Name)
 		}
 	}
-	cut := d.below(len(tokens) + 1)
+	cut := d.Below(len(tokens) + 1)
 	all("%token", tokens[:cut])
 	for level := 1; level <= len(g.Terms); level++ {
 		on := namesOn(g.Terms, level)
@@ -166,37 +135,19 @@ func (d *drawer) written(g api.Grammar) string {
 	all("%token", tokens[cut:])
 	b.WriteString("%%" + gap())
 	for i, r := range g.Rules {
-		if i > 0 && r.Left == g.Rules[i-1].Left && d.below(3) > 0 {
+		if i > 0 && r.Left == g.Rules[i-1].Left && d.Below(3) > 0 {
 			b.WriteString("|")
 		} else {
 			b.WriteString(";"[:min(i, 1)] + gap() + g.Nons[r.Left] + ":")
 		}
 		for _, sym := range r.Right {
-			b.WriteString(gap() + nameOf(g, sym))
+			b.WriteString(gap() + specimen.NameOf(g, sym))
 		}
-		if r.Prec >= 0 && (r.Prec != lastOf(r.Right) || d.below(4) == 0) {
+		if r.Prec >= 0 && (r.Prec != specimen.LastOf(r.Right) || d.Below(4) == 0) {
 			b.WriteString(" %prec " + g.Terms[r.Prec].Name)
 		}
 	}
 	return b.String() + ";" + d.of("", "\n", "%%", "%% ' {")
-}
-
-// lastOf is the last terminal of symbols, or -1.
-func lastOf(right []int) int {
-	for _, sym := range slices.Backward(right) {
-		if sym >= 0 {
-			return sym
-		}
-	}
-	return -1
-}
-
-// nameOf is a symbol's.
-func nameOf(g api.Grammar, sym int) string {
-	if sym < 0 {
-		return g.Nons[-1-sym]
-	}
-	return g.Terms[sym].Name
 }
 
 // namesOn are those of the terminals on a level.
@@ -235,9 +186,9 @@ func modelOf(g api.Grammar) string {
 	for _, r := range g.Rules {
 		text += g.Nons[r.Left] + " : "
 		for _, sym := range r.Right {
-			text += nameOf(g, sym) + " "
+			text += specimen.NameOf(g, sym) + " "
 		}
-		if r.Prec != lastOf(r.Right) {
+		if r.Prec != specimen.LastOf(r.Right) {
 			text += "%prec " + g.Terms[r.Prec].Name + " "
 		}
 		text += ";\n"
@@ -245,16 +196,7 @@ func modelOf(g api.Grammar) string {
 	return text
 }
 
-// copied is the same grammar, that shares nothing with g; what holds nothing is nil.
-func copied(g api.Grammar) api.Grammar {
-	c := api.Grammar{Terms: append([]api.Term(nil), g.Terms...), Nons: append([]string(nil), g.Nons...), Start: g.Start}
-	for _, r := range g.Rules {
-		c.Rules = append(c.Rules, api.Rule{Left: r.Left, Right: append([]int(nil), r.Right...), Prec: r.Prec})
-	}
-	return c
-}
-
 // same: are they the same, field by field?
 func same(a, b api.Grammar) bool {
-	return reflect.DeepEqual(copied(a), copied(b))
+	return reflect.DeepEqual(specimen.Copied(a), specimen.Copied(b))
 }

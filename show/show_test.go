@@ -3,7 +3,6 @@ package show_test
 import (
 	"fmt"
 	"hash/crc32"
-	"math"
 	"slices"
 	"strings"
 	"testing"
@@ -11,44 +10,12 @@ import (
 	"gerund/api"
 	"gerund/cfg"
 	"gerund/show"
+	"gerund/specimen"
 )
 
-// small is a grammar that may be, of everything something.
-func small() api.Grammar {
-	return api.Grammar{
-		Terms: []api.Term{{Name: "A"}, {Name: "U", Level: 2, Assoc: api.AssocRight}, {Name: "'+'", Level: 1, Assoc: api.AssocLeft}, {Name: "error", Level: 3, Assoc: api.AssocNon}, {Name: "'-'", Level: 1, Assoc: api.AssocLeft}},
-		Nons:  []string{"e", "f"},
-		Rules: []api.Rule{{Left: 0, Right: []int{-1, 2, -2}, Prec: 2}, {Left: 1, Right: []int{4, -2}, Prec: 1}, {Left: 1, Prec: -1}, {Left: 0, Right: []int{-2, -1}, Prec: 0}, {Left: 1, Right: []int{0}, Prec: 0}},
-		Start: 1,
-	}
-}
-
-// smallText is its text.
+// smallText is the small grammar's text.
 const smallText = "%token A\n%token U\n%token '+'\n%token error\n%token '-'\n%left '+' '-'\n%right U\n%nonassoc error\n%start f\n%%\n" +
-	"e : e '+' f ;\nf : '-' f %prec U ;\nf : ;\ne : f e %prec A ;\nf : A ;\n"
-
-// long is a name of so many bytes.
-func long(n int) string {
-	return strings.Repeat("x", n)
-}
-
-// termed are terminals without a level.
-func termed(names ...string) []api.Term {
-	var l []api.Term
-	for _, s := range names {
-		l = append(l, api.Term{Name: s})
-	}
-	return l
-}
-
-// numbered are texts with a number behind each, from 0 on.
-func numbered(text string, n int) []string {
-	var l []string
-	for i := range n {
-		l = append(l, fmt.Sprint(text, i))
-	}
-	return l
-}
+	"e : e '+' f ;\nf : '-' f %prec U ;\nf : ;\ne : f f %prec A ;\nf : A ;\n"
 
 // isShown holds a grammar to its text and the text's sum, and the text to the grammar that is read of it.
 func isShown(t *testing.T, g api.Grammar, want string) {
@@ -77,13 +44,13 @@ func isRefused(t *testing.T, g api.Grammar, want api.Errno) {
 
 // ruled is a grammar of the terminals A, 'b' and C, and the nonterminals e and f, with one rule of f that is told.
 func ruled(prec int, right ...int) api.Grammar {
-	return api.Grammar{Terms: termed("A", "'b'", "C"), Nons: []string{"e", "f"}, Rules: []api.Rule{{Left: 0, Prec: -1}, {Left: 1, Right: right, Prec: prec}}}
+	return api.Grammar{Terms: specimen.Termed("A", "'b'", "C"), Nons: []string{"e", "f"}, Rules: []api.Rule{{Left: 0, Prec: -1}, {Left: 1, Right: right, Prec: prec}}}
 }
 
 // P10.1, P10.2: the chapter's example, a grammar of everything something, the least grammar.
 func TestPrint(t *testing.T) {
-	isShown(t, api.Grammar{Terms: termed("'a'"), Nons: []string{"s"}, Rules: []api.Rule{{Right: []int{0, -1}, Prec: 0}, {Prec: -1}}}, "%token 'a'\n%start s\n%%\ns : 'a' s ;\ns : ;\n")
-	isShown(t, small(), smallText)
+	isShown(t, api.Grammar{Terms: specimen.Termed("'a'"), Nons: []string{"s"}, Rules: []api.Rule{{Right: []int{0, -1}, Prec: 0}, {Prec: -1}}}, "%token 'a'\n%start s\n%%\ns : 'a' s ;\ns : ;\n")
+	isShown(t, specimen.Small(), smallText)
 	isShown(t, api.Grammar{Nons: []string{"s"}, Rules: []api.Rule{{Prec: -1}}}, "%start s\n%%\ns : ;\n")
 	isShown(t, api.Grammar{Terms: []api.Term{}, Nons: []string{"s"}, Rules: []api.Rule{{Right: []int{}, Prec: -1}}}, "%start s\n%%\ns : ;\n")
 }
@@ -92,7 +59,7 @@ func TestPrint(t *testing.T) {
 func TestTerms(t *testing.T) {
 	const end = "%start e\n%%\ne : ;\n"
 	on := func(level, assoc int, names ...string) []api.Term {
-		l := termed(names...)
+		l := specimen.Termed(names...)
 		for i := range l {
 			l[i].Level, l[i].Assoc = level, assoc
 		}
@@ -103,8 +70,8 @@ func TestTerms(t *testing.T) {
 		want  string
 	}{
 		{nil, ""},
-		{termed("A"), "%token A\n"},
-		{termed("B", "'a'", "A", "error"), "%token B\n%token 'a'\n%token A\n%token error\n"},
+		{specimen.Termed("A"), "%token A\n"},
+		{specimen.Termed("B", "'a'", "A", "error"), "%token B\n%token 'a'\n%token A\n%token error\n"},
 		{on(1, api.AssocLeft, "A"), "%token A\n%left A\n"},
 		{on(1, api.AssocRight, "A"), "%token A\n%right A\n"},
 		{on(1, api.AssocNon, "A"), "%token A\n%nonassoc A\n"},
@@ -114,7 +81,7 @@ func TestTerms(t *testing.T) {
 		{slices.Concat(on(1, 1, "A"), on(2, 1, "B"), on(3, 1, "C")), "%token A\n%token B\n%token C\n%left A\n%left B\n%left C\n"},
 		{slices.Concat(on(3, 2, "A"), on(2, 3, "B"), on(1, 1, "C")), "%token A\n%token B\n%token C\n%left C\n%nonassoc B\n%right A\n"},
 		{slices.Concat(on(2, 2, "A"), on(1, 3, "B"), on(2, 2, "C"), on(1, 3, "D")), "%token A\n%token B\n%token C\n%token D\n%nonassoc B D\n%right A C\n"},
-		{slices.Concat(termed("X"), on(1, 1, "A"), termed("Y"), on(1, 1, "B"), termed("Z")), "%token X\n%token A\n%token Y\n%token B\n%token Z\n%left A B\n"},
+		{slices.Concat(specimen.Termed("X"), on(1, 1, "A"), specimen.Termed("Y"), on(1, 1, "B"), specimen.Termed("Z")), "%token X\n%token A\n%token Y\n%token B\n%token Z\n%left A B\n"},
 		{slices.Concat(on(1, 2, "Z", "Y"), on(2, 2, "X"), on(1, 2, "A")), "%token Z\n%token Y\n%token X\n%token A\n%right Z Y A\n%right X\n"},
 	} {
 		isShown(t, api.Grammar{Terms: x.terms, Nons: []string{"e"}, Rules: []api.Rule{{Prec: -1}}}, x.want+end)
@@ -123,8 +90,8 @@ func TestTerms(t *testing.T) {
 
 // P10.1, P10.2: 24 terminals, all on one level, each on its own, the last one on the first level; 16 nonterminals; 40 rules.
 func TestMost(t *testing.T) {
-	names := numbered("T", 24)
-	g := api.Grammar{Terms: termed(names...), Nons: []string{"e"}, Rules: []api.Rule{{Prec: -1}}}
+	names := specimen.Numbered("T", 24)
+	g := api.Grammar{Terms: specimen.Termed(names...), Nons: []string{"e"}, Rules: []api.Rule{{Prec: -1}}}
 	tokens, end := "%token "+strings.Join(names, "\n%token ")+"\n", "%start e\n%%\ne : ;\n"
 	isShown(t, g, tokens+end)
 	for i := range g.Terms {
@@ -136,7 +103,7 @@ func TestMost(t *testing.T) {
 	}
 	slices.Reverse(names)
 	isShown(t, g, tokens+"%left "+strings.Join(names, "\n%left ")+"\n"+end)
-	heads := numbered("e", 16)
+	heads := specimen.Numbered("e", 16)
 	g = api.Grammar{Nons: heads, Start: 15}
 	want := "%start e15\n%%\n"
 	for i := range 40 {
@@ -194,68 +161,14 @@ func TestRules(t *testing.T) {
 
 // P10.1, P10.2: each literal, wherever a terminal stands; names of all forms.
 func TestNames(t *testing.T) {
-	for i, s := range append(literals(), "A", "_", "a.b", "x..", "Z9_", "error", "token", long(20)) {
+	for i, s := range append(literals(), "A", "_", "a.b", "x..", "Z9_", "error", "token", specimen.Long(20)) {
 		g := api.Grammar{Terms: []api.Term{{Name: "B", Level: 1, Assoc: 1 + i%3}, {Name: s, Level: 1, Assoc: 1 + i%3}}, Nons: []string{"e"}, Rules: []api.Rule{{Right: []int{1, -1, 0}, Prec: 1}}}
 		way := []string{"%left", "%right", "%nonassoc"}[i%3]
 		isShown(t, g, "%token B\n%token "+s+"\n"+way+" B "+s+"\n%start e\n%%\ne : "+s+" e B %prec "+s+" ;\n")
 	}
-	for _, s := range []string{"A", "_", "a.b", "x..", "Z9_", "error", "token", long(20)} {
+	for _, s := range []string{"A", "_", "a.b", "x..", "Z9_", "error", "token", specimen.Long(20)} {
 		isShown(t, api.Grammar{Nons: []string{s}, Rules: []api.Rule{{Right: []int{-1}, Prec: -1}}}, "%start "+s+"\n%%\n"+s+" : "+s+" ;\n")
 	}
-}
-
-// wrongNames are neither names nor literals.
-func wrongNames() []string {
-	return []string{"", " ", "1", ".a", "%%", ";", "a b", "é", long(21), "'", "''", "'ab'", `'\'`, "'\n'", `"a"`}
-}
-
-// changes are what makes a grammar one that may not be: each a way that chapter 9 names.
-func changes() []func(*api.Grammar) {
-	l := []func(*api.Grammar){
-		func(g *api.Grammar) { *g = api.Grammar{} },
-		func(g *api.Grammar) { g.Terms = append(g.Terms, termed(numbered("T", 20)...)...) },
-		func(g *api.Grammar) { g.Terms[4].Name = "A" },
-		func(g *api.Grammar) { g.Terms = append(g.Terms, g.Terms[2]) },
-		func(g *api.Grammar) { g.Terms[0].Name = "f" },
-		func(g *api.Grammar) { g.Terms = nil },
-		func(g *api.Grammar) { g.Nons = nil },
-		func(g *api.Grammar) { g.Nons, g.Rules = nil, nil },
-		func(g *api.Grammar) { g.Nons[1] = "'a'" },
-		func(g *api.Grammar) { g.Nons[0] = "f" },
-		func(g *api.Grammar) { g.Nons = append(g.Nons, "g") },
-		func(g *api.Grammar) { g.Nons, g.Start = g.Nons[:1], 0 },
-		func(g *api.Grammar) {
-			g.Nons = append(g.Nons, numbered("g", 15)...)
-			for i := range 15 {
-				g.Rules = append(g.Rules, api.Rule{Left: 2 + i, Prec: -1})
-			}
-		},
-		func(g *api.Grammar) { g.Rules = nil },
-		func(g *api.Grammar) { g.Rules = append(g.Rules, slices.Repeat(g.Rules[2:3], 36)...) },
-		func(g *api.Grammar) { g.Rules[0], g.Rules[1] = g.Rules[1], g.Rules[0] },
-		func(g *api.Grammar) { g.Nons, g.Rules[2].Left, g.Rules[3].Left = append(g.Nons, "g", "h"), 3, 2 },
-		func(g *api.Grammar) { g.Rules = append(g.Rules[:1], g.Rules[3]) },
-		func(g *api.Grammar) { g.Rules[3].Right = []int{-1, -1, -1, -1, -1, -1, -1} },
-		func(g *api.Grammar) { g.Rules[4].Right = []int{0, 0, 0, 0, 0, 0, 0} },
-		func(g *api.Grammar) { g.Rules[0].Prec = -1 },
-		func(g *api.Grammar) { g.Rules[4].Prec = -1 },
-	}
-	for _, s := range wrongNames() {
-		l = append(l, func(g *api.Grammar) { g.Terms[1].Name = s }, func(g *api.Grammar) { g.Nons[1] = s })
-	}
-	for _, x := range [][2]int{{0, 1}, {0, 2}, {0, 3}, {0, 4}, {0, -1}, {2, 0}, {2, 4}, {2, -1}, {1, 2}, {1, 3}, {3, 2}, {4, 2}, {-1, 0}, {-1, 1}, {1, 0}, {math.MaxInt, 2}, {math.MinInt, 2}, {2, math.MinInt}} {
-		l = append(l, func(g *api.Grammar) { g.Terms[1].Level, g.Terms[1].Assoc = x[0], x[1] })
-	}
-	for _, n := range []int{-1, 2, 3, -2, math.MinInt, math.MaxInt} {
-		l = append(l, func(g *api.Grammar) { g.Start = n }, func(g *api.Grammar) { g.Rules[2].Left = n }, func(g *api.Grammar) { g.Rules[0].Left = n })
-	}
-	for _, n := range []int{5, -3, 99, -99, math.MinInt, math.MaxInt} {
-		l = append(l, func(g *api.Grammar) { g.Rules[0].Right[0] = n }, func(g *api.Grammar) { g.Rules[1].Right = []int{4, -2, -1, n} })
-	}
-	for _, n := range []int{-2, 5, -3, 99, -99, math.MinInt, math.MaxInt} {
-		l = append(l, func(g *api.Grammar) { g.Rules[0].Prec = n }, func(g *api.Grammar) { g.Rules[2].Prec = n }, func(g *api.Grammar) { g.Rules[3].Prec = n })
-	}
-	return l
 }
 
 // P10.1: a grammar that may not be is ErrArg, in each way, and ahead of a text that is too long.
@@ -263,8 +176,8 @@ func TestMayNotBe(t *testing.T) {
 	if len(modelOf(large())) <= api.MaxSource {
 		t.Fatal("it is too short")
 	}
-	for i, change := range changes() {
-		g, h := small(), large()
+	for i, change := range specimen.Changes() {
+		g, h := specimen.Small(), large()
 		change(&g)
 		if cfg.Right(g) {
 			t.Fatal(i, g)
@@ -277,8 +190,8 @@ func TestMayNotBe(t *testing.T) {
 
 // large is a grammar that may be, like the small one, but for many rules, so that its text is too long.
 func large() api.Grammar {
-	g := small()
-	g.Nons[0] = long(20)
+	g := specimen.Small()
+	g.Nons[0] = specimen.Long(20)
 	for range 35 {
 		g.Rules = append(g.Rules, api.Rule{Left: 0, Right: []int{-1, -1, -1, -1, -1, -1}, Prec: -1})
 	}
@@ -287,7 +200,7 @@ func large() api.Grammar {
 
 // sized is a grammar whose text has so many bytes.
 func sized(n int) api.Grammar {
-	g := api.Grammar{Terms: termed(long(20), "A", "B"), Nons: []string{"e"}, Rules: slices.Repeat([]api.Rule{{Prec: -1}}, 40)}
+	g := api.Grammar{Terms: specimen.Termed(specimen.Long(20), "A", "B"), Nons: []string{"e"}, Rules: slices.Repeat([]api.Rule{{Prec: -1}}, 40)}
 	g.Terms[0].Level, g.Terms[0].Assoc = 1, api.AssocNon
 	for i := 0; len(modelOf(g))+21 <= n; i++ {
 		r := &g.Rules[i/6]
@@ -316,10 +229,10 @@ func TestLongTexts(t *testing.T) {
 	isRefused(t, large(), api.ErrMany)
 	most := api.Grammar{Start: 15}
 	for i := range 24 {
-		most.Terms = append(most.Terms, api.Term{Name: long(18) + fmt.Sprint(10+i), Level: i + 1, Assoc: api.AssocNon})
+		most.Terms = append(most.Terms, api.Term{Name: specimen.Long(18) + fmt.Sprint(10+i), Level: i + 1, Assoc: api.AssocNon})
 	}
 	for i := range 16 {
-		most.Nons = append(most.Nons, long(17)+fmt.Sprint("y", 10+i))
+		most.Nons = append(most.Nons, specimen.Long(17)+fmt.Sprint("y", 10+i))
 	}
 	for i := range 40 {
 		most.Rules = append(most.Rules, api.Rule{Left: min(i, 15), Right: []int{23, 23, 23, 23, 23, 23}, Prec: 0})
@@ -330,7 +243,7 @@ func TestLongTexts(t *testing.T) {
 // P10.1, P10.2: a text may be read whose grammar's text is too long: its alternatives stand behind one name.
 func TestReadButTooLong(t *testing.T) {
 	for n, want := range map[int]api.Errno{3: api.OK, 4: api.ErrMany} {
-		name := long(20)
+		name := specimen.Long(20)
 		text := "%%" + name + ":" + strings.Repeat("|"+strings.Repeat(name+" ", n), 39) + ";"
 		g, _, e := cfg.Read([]byte(text))
 		if e != api.OK || len(text) > 4000 {
@@ -347,7 +260,7 @@ func TestReadButTooLong(t *testing.T) {
 
 // P10.1, P10.2: drawn grammars, against a model, and read again.
 func TestPrintDrawn(t *testing.T) {
-	d, shown, refused := drawer(10), 0, 0
+	d, shown, refused := drawer{10}, 0, 0
 	for range 4000 {
 		g := d.some()
 		if !cfg.Right(g) {
@@ -424,7 +337,7 @@ func TestThereAndBack(t *testing.T) {
 			t.Errorf("%q: too long", text)
 		}
 	}
-	d, there, long := drawer(1010), 0, 0
+	d, there, long := drawer{1010}, 0, 0
 	for range 4000 {
 		text := d.written(d.some())
 		if len(text) > 4000 {
@@ -466,25 +379,18 @@ func TestSameGrammar(t *testing.T) {
 
 // P10.1: grammars stay as they were, their spare room too, and are answered the same once more.
 func TestLeftAsItWas(t *testing.T) {
-	l := []api.Grammar{{}, small(), large(), sized(4000), sized(4001)}
-	for _, change := range changes() {
-		g := small()
+	l := []api.Grammar{{}, specimen.Small(), large(), sized(4000), sized(4001)}
+	for _, change := range specimen.Changes() {
+		g := specimen.Small()
 		change(&g)
 		l = append(l, g)
 	}
-	d := drawer(33)
+	d := drawer{33}
 	for range 300 {
 		l = append(l, d.some())
 	}
 	for _, g := range l {
-		full := copied(g)
-		full.Terms = append(full.Terms, api.Term{Name: "spare"})
-		full.Nons = append(full.Nons, "spare")
-		for i, r := range full.Rules {
-			full.Rules[i].Right = append(slices.Clone(r.Right), 55)[:len(r.Right)]
-		}
-		full.Rules = append(full.Rules, api.Rule{Left: 44})
-		given := api.Grammar{Terms: full.Terms[:len(g.Terms)], Nons: full.Nons[:len(g.Nons)], Rules: full.Rules[:len(g.Rules)], Start: g.Start}
+		given, asWas := specimen.Spare(g)
 		s, e := show.Print(given)
 		n, f := show.Digest(given)
 		if again, no := show.Print(given); again != s || no != e {
@@ -493,13 +399,8 @@ func TestLeftAsItWas(t *testing.T) {
 		if again, no := show.Digest(given); again != n || no != f {
 			t.Fatal(g, n, again)
 		}
-		if !same(given, g) || full.Terms[len(g.Terms)] != (api.Term{Name: "spare"}) || full.Nons[len(g.Nons)] != "spare" || full.Rules[len(g.Rules)].Left != 44 {
+		if !asWas() {
 			t.Fatal(given, g)
-		}
-		for _, r := range given.Rules {
-			if r.Right[:len(r.Right)+1][len(r.Right)] != 55 {
-				t.Fatal(given, g)
-			}
 		}
 	}
 }

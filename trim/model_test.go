@@ -1,8 +1,11 @@
 package trim_test
 
 import (
+	"reflect"
+
 	"gerund/api"
 	"gerund/cfg"
+	"gerund/specimen"
 )
 
 // model is what the calls answer of a grammar that may be.
@@ -116,10 +119,10 @@ func builtOf(g api.Grammar, kept []int) api.Grammar {
 		r := g.Rules[i]
 		p := api.Prod{Left: ref(g.Nons[r.Left])}
 		for _, sym := range r.Right {
-			p.Right = append(p.Right, ref(nameOf(g, sym)))
+			p.Right = append(p.Right, ref(specimen.NameOf(g, sym)))
 		}
 		if r.Prec >= 0 {
-			p.Prec = ref(nameOf(g, r.Prec))
+			p.Prec = ref(specimen.NameOf(g, r.Prec))
 		}
 		s.Prods = append(s.Prods, p)
 	}
@@ -128,4 +131,9 @@ func builtOf(g api.Grammar, kept []int) api.Grammar {
 		panic([]any{s, at, e})
 	}
 	return built
+}
+
+// same: are they the same, field by field?
+func same(a, b api.Grammar) bool {
+	return reflect.DeepEqual(specimen.Copied(a), specimen.Copied(b))
 }

@@ -1,12 +1,12 @@
 package trim_test
 
 import (
-	"math"
 	"slices"
 	"testing"
 
 	"gerund/api"
 	"gerund/cfg"
+	"gerund/specimen"
 	"gerund/trim"
 )
 
@@ -71,7 +71,7 @@ func isOnce(t *testing.T, g, h api.Grammar, kept []int) {
 func namesOf(g api.Grammar, syms []int) []string {
 	var l []string
 	for _, sym := range syms {
-		l = append(l, nameOf(g, sym))
+		l = append(l, specimen.NameOf(g, sym))
 	}
 	return l
 }
@@ -157,12 +157,12 @@ func TestTold(t *testing.T) {
 
 // chain is a grammar of nonterminals in some order, each of which has first a rule by which it comes to itself alone, and then, in another order, one with the next nonterminal; the last one's has what is told.
 func chain(links, rules []int, end ...int) api.Grammar {
-	g := api.Grammar{Terms: termed("T"), Nons: numbered("e", len(links))}
+	g := api.Grammar{Terms: specimen.Termed("T"), Nons: specimen.Numbered("e", len(links))}
 	for i := range links {
 		g.Rules = append(g.Rules, api.Rule{Left: i, Right: []int{-1 - i}, Prec: -1})
 	}
 	for _, i := range rules {
-		r := api.Rule{Left: links[i], Right: end, Prec: lastOf(end)}
+		r := api.Rule{Left: links[i], Right: end, Prec: specimen.LastOf(end)}
 		if i+1 < len(links) {
 			r.Right, r.Prec = []int{-1 - links[i+1]}, -1
 		}
@@ -171,33 +171,12 @@ func chain(links, rules []int, end ...int) api.Grammar {
 	return g
 }
 
-// rising are the numbers below n.
-func rising(n int) []int {
-	l := make([]int, n)
-	for i := range l {
-		l[i] = i
-	}
-	return l
-}
-
-// orders are those in which n things may stand: rising, falling, and some others.
-func orders(n int) [][]int {
-	falling := rising(n)
-	slices.Reverse(falling)
-	l := [][]int{rising(n), falling}
-	d := drawer(n)
-	for range 6 {
-		l = append(l, d.order(n))
-	}
-	return l
-}
-
 // P11.1, P11.2: chains of up to 16 nonterminals, each of which needs the next one, by rules behind or ahead of its own; whatever link is the start.
 func TestChains(t *testing.T) {
 	for n := 1; n <= 16; n++ {
 		none, all := make([]bool, n), slices.Repeat([]bool{true}, n)
-		for _, links := range orders(n) {
-			for _, rules := range orders(n) {
+		for _, links := range specimen.Orders(n) {
+			for _, rules := range specimen.Orders(n) {
 				for from, start := range links {
 					var behind []bool
 					for i := range links {
@@ -236,8 +215,8 @@ func isChained(t *testing.T, g api.Grammar, nullable, productive, reachable []bo
 // P11.1, P11.2: a ring of nonterminals that come back to themselves alone, till one of them has another rule.
 func TestRings(t *testing.T) {
 	for n := 1; n <= 16; n++ {
-		for _, links := range orders(n) {
-			g := chain(links, rising(n), -1-links[0])
+		for _, links := range specimen.Orders(n) {
+			g := chain(links, specimen.Rising(n), -1-links[0])
 			g.Start = links[n/2]
 			isTrimmed(t, g, modelOf(g))
 			none, all := make([]bool, n), slices.Repeat([]bool{true}, n)
@@ -245,7 +224,7 @@ func TestRings(t *testing.T) {
 				t.Fatal(g)
 			}
 			for i := range n {
-				h := copied(g)
+				h := specimen.Copied(g)
 				h.Rules = append(h.Rules, api.Rule{Left: i, Right: []int{0}, Prec: 0})
 				isChained(t, h, none, all, all)
 				h.Rules[len(h.Rules)-1] = api.Rule{Left: i, Prec: -1}
@@ -259,7 +238,7 @@ func TestRings(t *testing.T) {
 func TestWide(t *testing.T) {
 	for _, most := range []int{1, 2, 6} {
 		for without := -1; without < most; without++ {
-			g := api.Grammar{Terms: termed("A", "B"), Nons: numbered("e", most+1), Rules: []api.Rule{{Left: 0, Prec: -1}, {Left: 0, Right: []int{1}, Prec: 1}}}
+			g := api.Grammar{Terms: specimen.Termed("A", "B"), Nons: specimen.Numbered("e", most+1), Rules: []api.Rule{{Left: 0, Prec: -1}, {Left: 0, Right: []int{1}, Prec: 1}}}
 			for i := range most {
 				g.Rules[0].Right = append(g.Rules[0].Right, -2-i)
 				r := api.Rule{Left: i + 1, Right: []int{0}, Prec: 0}
@@ -269,7 +248,7 @@ func TestWide(t *testing.T) {
 				g.Rules = append(g.Rules, r)
 			}
 			productive, reachable := slices.Repeat([]bool{true}, most+1), slices.Repeat([]bool{true}, most+1)
-			want := model{nullable: make([]bool, most+1), productive: productive, reachable: reachable, kept: rising(most + 2), is: true}
+			want := model{nullable: make([]bool, most+1), productive: productive, reachable: reachable, kept: specimen.Rising(most + 2), is: true}
 			if without >= 0 {
 				productive[without+1] = false
 				clear(reachable[1:])
@@ -283,7 +262,7 @@ func TestWide(t *testing.T) {
 
 // P11.1, P11.2: as many terminals, nonterminals and rules as may be, all of which stay, or all but one of the nonterminals go.
 func TestMost(t *testing.T) {
-	g := api.Grammar{Terms: termed(numbered("T", 24)...), Nons: numbered("e", 16), Start: 15}
+	g := api.Grammar{Terms: specimen.Termed(specimen.Numbered("T", 24)...), Nons: specimen.Numbered("e", 16), Start: 15}
 	for i := range g.Terms {
 		g.Terms[i].Level, g.Terms[i].Assoc = 24-i, 1+i%3
 	}
@@ -294,96 +273,32 @@ func TestMost(t *testing.T) {
 	none, all := make([]bool, 16), slices.Repeat([]bool{true}, 16)
 	isTrimmed(t, g, model{nullable: none, productive: none, reachable: slices.Concat(none[:15], all[:1]), err: api.ErrEmpty})
 	g.Rules[39].Right = nil
-	isTrimmed(t, g, model{nullable: slices.Concat(none[:15], all[:1]), productive: slices.Concat(none[:15], all[:1]), reachable: slices.Concat(none[:15], all[:1]), kept: rising(40)[15:], reduced: builtOf(g, rising(40)[15:])})
+	isTrimmed(t, g, model{nullable: slices.Concat(none[:15], all[:1]), productive: slices.Concat(none[:15], all[:1]), reachable: slices.Concat(none[:15], all[:1]), kept: specimen.Rising(40)[15:], reduced: builtOf(g, specimen.Rising(40)[15:])})
 	for i := range 15 {
 		g.Rules[i].Right = slices.Repeat([]int{-16}, 6)
 	}
 	g.Rules[16].Right = []int{-1, -2, -3, -4, -5, -6}
 	g.Rules[17].Right = []int{-7, -8, -9, -10, -11, -12}
 	g.Rules[18].Right = []int{-13, -14, -15, -16, 1, 2}
-	isTrimmed(t, g, model{nullable: all, productive: all, reachable: all, kept: rising(40), reduced: g, is: true})
+	isTrimmed(t, g, model{nullable: all, productive: all, reachable: all, kept: specimen.Rising(40), reduced: g, is: true})
 }
 
-// small is a grammar that may be, of everything something, all of which is productive.
-func small() api.Grammar {
-	return api.Grammar{
-		Terms: []api.Term{{Name: "A"}, {Name: "U", Level: 2, Assoc: api.AssocRight}, {Name: "'+'", Level: 1, Assoc: api.AssocLeft}, {Name: "error", Level: 3, Assoc: api.AssocNon}, {Name: "'-'", Level: 1, Assoc: api.AssocLeft}},
-		Nons:  []string{"e", "f"},
-		Rules: []api.Rule{{Left: 0, Right: []int{-1, 2, -2}, Prec: 2}, {Left: 1, Right: []int{4, -2}, Prec: 1}, {Left: 1, Prec: -1}, {Left: 0, Right: []int{-2, -2}, Prec: 0}, {Left: 1, Right: []int{0}, Prec: 0}},
-		Start: 1,
-	}
-}
-
-// empty is one like it, whose start isn't productive.
+// empty is one like the small one, whose start isn't productive.
 func empty() api.Grammar {
-	g := small()
+	g := specimen.Small()
 	g.Start, g.Rules[3].Right = 0, []int{-2, -1}
 	return g
 }
 
-// wrongNames are neither names nor literals.
-func wrongNames() []string {
-	return []string{"", " ", "1", ".a", "%%", ";", "a b", "é", long(21), "'", "''", "'ab'", `'\'`, "'\n'", `"a"`}
-}
-
-// changes are what makes a grammar one that may not be: each a way that chapter 9 names.
-func changes() []func(*api.Grammar) {
-	l := []func(*api.Grammar){
-		func(g *api.Grammar) { *g = api.Grammar{} },
-		func(g *api.Grammar) { g.Terms = append(g.Terms, termed(numbered("T", 20)...)...) },
-		func(g *api.Grammar) { g.Terms[4].Name = "A" },
-		func(g *api.Grammar) { g.Terms = append(g.Terms, g.Terms[2]) },
-		func(g *api.Grammar) { g.Terms[0].Name = "f" },
-		func(g *api.Grammar) { g.Terms = nil },
-		func(g *api.Grammar) { g.Nons = nil },
-		func(g *api.Grammar) { g.Nons, g.Rules = nil, nil },
-		func(g *api.Grammar) { g.Nons[1] = "'a'" },
-		func(g *api.Grammar) { g.Nons[0] = "f" },
-		func(g *api.Grammar) { g.Nons = append(g.Nons, "g") },
-		func(g *api.Grammar) { g.Nons, g.Start = g.Nons[:1], 0 },
-		func(g *api.Grammar) {
-			g.Nons = append(g.Nons, numbered("g", 15)...)
-			for i := range 15 {
-				g.Rules = append(g.Rules, api.Rule{Left: 2 + i, Prec: -1})
-			}
-		},
-		func(g *api.Grammar) { g.Rules = nil },
-		func(g *api.Grammar) { g.Rules = append(g.Rules, slices.Repeat(g.Rules[2:3], 36)...) },
-		func(g *api.Grammar) { g.Rules[0], g.Rules[1] = g.Rules[1], g.Rules[0] },
-		func(g *api.Grammar) { g.Nons, g.Rules[2].Left, g.Rules[3].Left = append(g.Nons, "g", "h"), 3, 2 },
-		func(g *api.Grammar) { g.Rules = append(g.Rules[:1], g.Rules[3]) },
-		func(g *api.Grammar) { g.Rules[3].Right = []int{-1, -1, -1, -1, -1, -1, -1} },
-		func(g *api.Grammar) { g.Rules[4].Right = []int{0, 0, 0, 0, 0, 0, 0} },
-		func(g *api.Grammar) { g.Rules[0].Prec = -1 },
-		func(g *api.Grammar) { g.Rules[4].Prec = -1 },
-	}
-	for _, s := range wrongNames() {
-		l = append(l, func(g *api.Grammar) { g.Terms[1].Name = s }, func(g *api.Grammar) { g.Nons[1] = s })
-	}
-	for _, x := range [][2]int{{0, 1}, {0, 2}, {0, 3}, {0, 4}, {0, -1}, {2, 0}, {2, 4}, {2, -1}, {1, 2}, {1, 3}, {3, 2}, {4, 2}, {-1, 0}, {-1, 1}, {1, 0}, {math.MaxInt, 2}, {math.MinInt, 2}, {2, math.MinInt}} {
-		l = append(l, func(g *api.Grammar) { g.Terms[1].Level, g.Terms[1].Assoc = x[0], x[1] })
-	}
-	for _, n := range []int{-1, 2, 3, -2, math.MinInt, math.MaxInt} {
-		l = append(l, func(g *api.Grammar) { g.Start = n }, func(g *api.Grammar) { g.Rules[2].Left = n }, func(g *api.Grammar) { g.Rules[0].Left = n })
-	}
-	for _, n := range []int{5, -3, 99, -99, math.MinInt, math.MaxInt} {
-		l = append(l, func(g *api.Grammar) { g.Rules[0].Right[0] = n }, func(g *api.Grammar) { g.Rules[1].Right = []int{4, -2, -1, n} })
-	}
-	for _, n := range []int{-2, 5, -3, 99, -99, math.MinInt, math.MaxInt} {
-		l = append(l, func(g *api.Grammar) { g.Rules[0].Prec = n }, func(g *api.Grammar) { g.Rules[2].Prec = n }, func(g *api.Grammar) { g.Rules[3].Prec = n })
-	}
-	return l
-}
-
 // P11.1: a grammar that may not be, in each way, has nothing, and is ErrArg, ahead of a start that isn't productive.
 func TestMayNotBe(t *testing.T) {
-	isTrimmed(t, small(), modelOf(small()))
+	isTrimmed(t, specimen.Small(), modelOf(specimen.Small()))
 	isTrimmed(t, empty(), modelOf(empty()))
 	if _, _, e := trim.Reduce(empty()); e != api.ErrEmpty {
 		t.Fatal(e)
 	}
-	for i, change := range changes() {
-		for _, g := range []api.Grammar{small(), empty()} {
+	for i, change := range specimen.Changes() {
+		for _, g := range []api.Grammar{specimen.Small(), empty()} {
 			change(&g)
 			if cfg.Right(g) {
 				t.Fatal(i, g)
@@ -406,7 +321,7 @@ func TestMayNotBeUnused(t *testing.T) {
 		func(g *api.Grammar) { g.Rules = append(g.Rules, slices.Repeat(g.Rules[2:], 38)...) },
 		func(g *api.Grammar) { g.Terms = append(g.Terms, api.Term{Name: "u"}) },
 	} {
-		h := copied(g)
+		h := specimen.Copied(g)
 		change(&h)
 		isTrimmed(t, h, model{err: api.ErrArg})
 	}
@@ -442,7 +357,7 @@ func TestIs(t *testing.T) {
 		{func(g *api.Grammar) { g.Rules[0].Left, g.Rules[1].Left = 1, 0 }, false},
 		{func(g *api.Grammar) { g.Start = 2 }, false},
 	} {
-		h := copied(g)
+		h := specimen.Copied(g)
 		x.change(&h)
 		if is := trim.Is(h); is != x.is {
 			t.Errorf("%v: %v", h, is)
@@ -463,13 +378,13 @@ func TestAllSmall(t *testing.T) {
 	}
 	var rules []api.Rule
 	for _, r := range rights {
-		rules = append(rules, api.Rule{Left: 0, Right: r, Prec: lastOf(r)}, api.Rule{Left: 1, Right: r, Prec: lastOf(r)})
+		rules = append(rules, api.Rule{Left: 0, Right: r, Prec: specimen.LastOf(r)}, api.Rule{Left: 1, Right: r, Prec: specimen.LastOf(r)})
 	}
 	for _, a := range rules {
 		for _, b := range rules {
 			for _, c := range rules {
 				for start := range 2 {
-					g := api.Grammar{Terms: termed("T"), Nons: []string{"e", "f"}, Rules: []api.Rule{a, b, c}, Start: start}
+					g := api.Grammar{Terms: specimen.Termed("T"), Nons: []string{"e", "f"}, Rules: []api.Rule{a, b, c}, Start: start}
 					if cfg.Right(g) {
 						isTrimmed(t, g, modelOf(g))
 					} else {
@@ -483,14 +398,14 @@ func TestAllSmall(t *testing.T) {
 
 // P11.1, P11.2: drawn grammars of up to 16 nonterminals, against a model; of each kind of them some.
 func TestDrawn(t *testing.T) {
-	d := drawer(11)
+	d := specimen.Drawer(11)
 	var none, is, less, moved, first int
 	for i := range 12000 {
 		most := 7
 		if i%120 == 0 {
 			most = 16
 		}
-		g := d.some(most)
+		g := d.Some(most)
 		m := modelOf(g)
 		isTrimmed(t, g, m)
 		switch {
@@ -525,15 +440,15 @@ func isPart(part, whole []string) bool {
 
 // kinds are grammars of all kinds: such as may be, and such as may not.
 func kinds() []api.Grammar {
-	l := []api.Grammar{{}, small(), empty(), chain(rising(16), rising(16), 0)}
-	for _, change := range changes() {
-		g := small()
+	l := []api.Grammar{{}, specimen.Small(), empty(), chain(specimen.Rising(16), specimen.Rising(16), 0)}
+	for _, change := range specimen.Changes() {
+		g := specimen.Small()
 		change(&g)
 		l = append(l, g)
 	}
-	d := drawer(33)
+	d := specimen.Drawer(33)
 	for range 400 {
-		l = append(l, d.some(8))
+		l = append(l, d.Some(8))
 	}
 	return l
 }
@@ -541,14 +456,7 @@ func kinds() []api.Grammar {
 // P11.1: grammars stay as they were, their spare room too, and are answered the same once more.
 func TestLeftAsItWas(t *testing.T) {
 	for _, g := range kinds() {
-		full := copied(g)
-		full.Terms = append(full.Terms, api.Term{Name: "spare"})
-		full.Nons = append(full.Nons, "spare")
-		for i, r := range full.Rules {
-			full.Rules[i].Right = append(slices.Clone(r.Right), 55)[:len(r.Right)]
-		}
-		full.Rules = append(full.Rules, api.Rule{Left: 44})
-		given := api.Grammar{Terms: full.Terms[:len(g.Terms)], Nons: full.Nons[:len(g.Nons)], Rules: full.Rules[:len(g.Rules)], Start: g.Start}
+		given, asWas := specimen.Spare(g)
 		for range 2 {
 			want := model{err: api.ErrArg}
 			if cfg.Right(g) {
@@ -556,13 +464,8 @@ func TestLeftAsItWas(t *testing.T) {
 			}
 			isTrimmed(t, given, want)
 		}
-		if !same(given, g) || full.Terms[len(g.Terms)] != (api.Term{Name: "spare"}) || full.Nons[len(g.Nons)] != "spare" || full.Rules[len(g.Rules)].Left != 44 {
+		if !asWas() {
 			t.Fatal(given, g)
-		}
-		for _, r := range given.Rules {
-			if r.Right[:len(r.Right)+1][len(r.Right)] != 55 {
-				t.Fatal(given, g)
-			}
 		}
 	}
 }
@@ -578,9 +481,9 @@ func spoil[T any](l []T, x T) {
 // P11.1: what is answered is new memory: who writes into a list of it changes neither what was handed in nor another list, and the next answer is the same.
 func TestNewMemory(t *testing.T) {
 	for _, g := range kinds() {
-		was := copied(g)
+		was := specimen.Copied(g)
 		h, kept, _ := trim.Reduce(g)
-		want, numbers := copied(h), slices.Clone(kept)
+		want, numbers := specimen.Copied(h), slices.Clone(kept)
 		nullable, productive, reachable := trim.Nullable(g), trim.Productive(g), trim.Reachable(g)
 		spoil(nullable, true)
 		spoil(productive, false)

@@ -1,0 +1,107 @@
+// Package specimen is grammars to test with: drawn ones, and such as may not be. The tests of the layers above cfg share it; no layer calls it.
+package specimen
+
+import (
+	"slices"
+
+	"gerund/api"
+)
+
+// Drawer is numbers that look like drawn ones.
+type Drawer uint64
+
+// Below is one of the numbers below n.
+func (d *Drawer) Below(n int) int {
+	*d = *d*6364136223846793005 + 1442695040888963407
+	return int(*d>>33) % n
+}
+
+// Order is the numbers below n, in any order.
+func (d *Drawer) Order(n int) []int {
+	l := make([]int, n)
+	for i := range l {
+		j := d.Below(i + 1)
+		l[i], l[j] = l[j], i
+	}
+	return l
+}
+
+// Grammar is one that may be: so many terminals, nonterminals, and rules, no fewer than nonterminals, each with at most so many symbols.
+func (d *Drawer) Grammar(terms, nons, rules, most int) api.Grammar {
+	g := api.Grammar{Nons: Numbered("e", nons), Start: d.Below(nons)}
+	g.Terms = d.Levelled(Termed(Numbered("T", terms)...))
+	came := 0
+	for left := rules; left > 0; left-- {
+		r := api.Rule{Left: d.Below(min(came+1, nons))}
+		if left == nons-came {
+			r.Left = came
+		}
+		came = max(came, r.Left+1)
+		r.Right = d.right(terms, nons, most)
+		r.Prec = LastOf(r.Right)
+		if terms > 0 && d.Below(4) == 0 {
+			r.Prec = d.Below(terms)
+		}
+		g.Rules = append(g.Rules, r)
+	}
+	return g
+}
+
+// Levelled are terminals of which some have levels, from 1 on, none of which is left out.
+func (d *Drawer) Levelled(terms []api.Term) []api.Term {
+	l := slices.Clone(terms)
+	greatest := d.Below(len(l) + 1)
+	ways := make([]int, greatest+1)
+	for i := range greatest {
+		ways[i+1] = 1 + d.Below(3)
+	}
+	for i, at := range d.Order(len(l)) {
+		level := i + 1
+		if level > greatest {
+			level = d.Below(greatest + 1)
+		}
+		l[at].Level, l[at].Assoc = level, ways[level]
+	}
+	return l
+}
+
+// right is a rule's symbols, most often nonterminals.
+func (d *Drawer) right(terms, nons, most int) []int {
+	var l []int
+	for range d.Below(most + 1) {
+		sym := -1 - d.Below(nons)
+		if terms > 0 && d.Below(4) == 0 {
+			sym = d.Below(terms)
+		}
+		l = append(l, sym)
+	}
+	return l
+}
+
+// Some is a grammar of at most so many nonterminals: with few rules or many, of few symbols or many.
+func (d *Drawer) Some(most int) api.Grammar {
+	nons := 1 + d.Below(most)
+	rules := nons + d.Below(min(40-nons, 2*nons)+1)
+	return d.Grammar(d.Below(5), nons, rules, 1+d.Below(6))
+}
+
+// Rising are the numbers below n.
+func Rising(n int) []int {
+	l := make([]int, n)
+	for i := range l {
+		l[i] = i
+	}
+	return l
+}
+
+// Orders are those in which n things may stand: rising, falling, and some others.
+func Orders(n int) [][]int {
+	falling := Rising(n)
+	slices.Reverse(falling)
+	l := [][]int{Rising(n), falling}
+	d := Drawer(n)
+	for range 6 {
+		l = append(l, d.Order(n))
+	}
+	return l
+}
