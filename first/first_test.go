@@ -374,7 +374,7 @@ func TestRings(t *testing.T) {
 func TestWide(t *testing.T) {
 	for most := range 7 {
 		kinds := make([]int, most)
-		for more := true; more; more = count(kinds, 3) {
+		for more := true; more; more = specimen.Count(kinds, 3) {
 			g := api.Grammar{Terms: specimen.Termed(specimen.Numbered("T", most)...), Nons: specimen.Numbered("e", most+1), Rules: []api.Rule{{Prec: -1}}}
 			for i, kind := range kinds {
 				sym := -2 - i
@@ -391,17 +391,6 @@ func TestWide(t *testing.T) {
 			isWide(t, g, kinds)
 		}
 	}
-}
-
-// count goes on to the next digits below a base; is there one?
-func count(digits []int, base int) bool {
-	for i := range digits {
-		if digits[i]++; digits[i] < base {
-			return true
-		}
-		digits[i] = 0
-	}
-	return false
 }
 
 // isWide holds a grammar to what its first rule's symbols tell: those of kind 1 are nullable, those of kind 2 terminals.
@@ -451,28 +440,10 @@ func TestMost(t *testing.T) {
 
 // P12.1: all grammars of two nonterminals, two terminals, and three rules of at most two symbols, against a model.
 func TestAllSmall(t *testing.T) {
-	rights := [][]int{nil}
-	syms := []int{0, 1, -1, -2}
-	for _, a := range syms {
-		rights = append(rights, []int{a})
-		for _, b := range syms {
-			rights = append(rights, []int{a, b})
-		}
-	}
-	var rules []api.Rule
-	for _, r := range rights {
-		rules = append(rules, api.Rule{Left: 0, Right: r, Prec: specimen.LastOf(r)}, api.Rule{Left: 1, Right: r, Prec: specimen.LastOf(r)})
-	}
-	g := api.Grammar{Terms: specimen.Termed("A", "B"), Nons: []string{"e", "f"}, Rules: make([]api.Rule, 3)}
-	for at := make([]int, 3); count(at, len(rules)); {
-		for i, n := range at {
-			g.Rules[i] = rules[n]
-		}
-		for g.Start = range 2 {
-			if cfg.Right(g) {
-				m := modelOf(g)
-				isFirst(t, g, m.first, m.follow)
-			}
+	for g := range specimen.Every(2) {
+		if cfg.Right(g) {
+			m := modelOf(g)
+			isFirst(t, g, m.first, m.follow)
 		}
 	}
 }

@@ -2,10 +2,12 @@ package specimen_test
 
 import (
 	"slices"
+	"strings"
 	"testing"
 
 	"gerund/api"
 	"gerund/cfg"
+	"gerund/show"
 	"gerund/specimen"
 )
 
@@ -35,6 +37,56 @@ func TestChanges(t *testing.T) {
 		if change(&g); cfg.Right(g) {
 			t.Error(i, g)
 		}
+	}
+}
+
+// Digits are gone through till all below the base were there.
+func TestCount(t *testing.T) {
+	for n := range 5 {
+		digits, seen := make([]int, n), map[string]bool{}
+		for more := true; more; more = specimen.Count(digits, 3) {
+			text := ""
+			for _, d := range digits {
+				text += string(rune('0' + d))
+			}
+			if seen[text] || strings.Trim(text, "012") != "" {
+				t.Fatal(digits)
+			}
+			seen[text] = true
+		}
+		if all := []int{1, 3, 9, 27, 81}[n]; len(seen) != all {
+			t.Error(n, len(seen))
+		}
+	}
+}
+
+// Every grammar there is once, those that may be and those that may not; whoever has enough ends it.
+func TestEvery(t *testing.T) {
+	for terms, rules := range []int{14, 26, 42} {
+		all, may, seen := 0, 0, map[string]bool{}
+		for g := range specimen.Every(terms) {
+			if all++; cfg.Right(g) {
+				may++
+				text, e := show.Print(g)
+				if seen[text] || e != api.OK {
+					t.Fatal(g, e)
+				}
+				seen[text] = true
+			}
+		}
+		// Three of eight ways in which Lefts stand may be: 0 0 1, 0 1 0 and 0 1 1.
+		if all != 2*rules*rules*rules || 8*may != 3*all {
+			t.Error(terms, all, may)
+		}
+	}
+	n := 0
+	for range specimen.Every(1) {
+		if n++; n == 5 {
+			break
+		}
+	}
+	if n != 5 {
+		t.Error(n)
 	}
 }
 

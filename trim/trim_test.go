@@ -367,31 +367,11 @@ func TestIs(t *testing.T) {
 
 // P11.1, P11.2: all grammars of two nonterminals, a terminal, and three rules of at most two symbols, against a model.
 func TestAllSmall(t *testing.T) {
-	var rights [][]int
-	syms := []int{0, -1, -2}
-	rights = append(rights, nil)
-	for _, a := range syms {
-		rights = append(rights, []int{a})
-		for _, b := range syms {
-			rights = append(rights, []int{a, b})
-		}
-	}
-	var rules []api.Rule
-	for _, r := range rights {
-		rules = append(rules, api.Rule{Left: 0, Right: r, Prec: specimen.LastOf(r)}, api.Rule{Left: 1, Right: r, Prec: specimen.LastOf(r)})
-	}
-	for _, a := range rules {
-		for _, b := range rules {
-			for _, c := range rules {
-				for start := range 2 {
-					g := api.Grammar{Terms: specimen.Termed("T"), Nons: []string{"e", "f"}, Rules: []api.Rule{a, b, c}, Start: start}
-					if cfg.Right(g) {
-						isTrimmed(t, g, modelOf(g))
-					} else {
-						isTrimmed(t, g, model{err: api.ErrArg})
-					}
-				}
-			}
+	for g := range specimen.Every(1) {
+		if cfg.Right(g) {
+			isTrimmed(t, g, modelOf(g))
+		} else {
+			isTrimmed(t, g, model{err: api.ErrArg})
 		}
 	}
 }
