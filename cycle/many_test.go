@@ -9,17 +9,12 @@ import (
 	"gerund/specimen"
 )
 
-// rule is one of symbols.
-func rule(left int, right ...int) api.Rule {
-	return api.Rule{Left: left, Right: right, Prec: specimen.LastOf(right)}
-}
-
 // graph is a grammar of nonterminals each of which comes at once to those that are told, by rules of one symbol, and has a rule with a terminal: ahead of these all, or behind them.
 func graph(steps []uint32, start int, behind bool) api.Grammar {
 	g := api.Grammar{Terms: specimen.Termed("T"), Nons: specimen.Numbered("e", len(steps)), Start: start}
 	ends := func() {
 		for n := range steps {
-			g.Rules = append(g.Rules, rule(n, 0))
+			g.Rules = append(g.Rules, specimen.Rule(n, 0))
 		}
 	}
 	if !behind {
@@ -28,11 +23,11 @@ func graph(steps []uint32, start int, behind bool) api.Grammar {
 	for n, s := range steps {
 		for to := range steps {
 			if s>>to&1 == 1 {
-				g.Rules = append(g.Rules, rule(n, -1-to))
+				g.Rules = append(g.Rules, specimen.Rule(n, -1-to))
 			}
 		}
 		if behind {
-			g.Rules = append(g.Rules, rule(n, 0))
+			g.Rules = append(g.Rules, specimen.Rule(n, 0))
 		}
 	}
 	return g
@@ -126,12 +121,12 @@ func TestNotProductive(t *testing.T) {
 			steps := make([]uint32, n)
 			for e := range n {
 				to := links[(slices.Index(links, e)+1)%n]
-				g.Rules = append(g.Rules, rule(e, -1-to))
+				g.Rules = append(g.Rules, specimen.Rule(e, -1-to))
 				steps[e] = 1 << to
 			}
 			isCycled(t, g, model{steps: make([]uint32, n)})
 			for e := range n {
-				for _, r := range []api.Rule{rule(e, 0), rule(e)} {
+				for _, r := range []api.Rule{specimen.Rule(e, 0), specimen.Rule(e)} {
 					h := specimen.Copied(g)
 					h.Rules = append(h.Rules, r)
 					isCycled(t, h, model{steps: steps, cycles: 1<<n - 1, endless: true, err: api.ErrCycle})
@@ -152,10 +147,10 @@ func TestDense(t *testing.T) {
 				ahead := links[:slices.Index(links, e)]
 				want.steps[e] = setOf(ahead)
 				if len(ahead) == 0 {
-					g.Rules = append(g.Rules, rule(e))
+					g.Rules = append(g.Rules, specimen.Rule(e))
 				}
 				for part := range slices.Chunk(ahead, 6) {
-					r := rule(e)
+					r := specimen.Rule(e)
 					for _, to := range part {
 						r.Right = append(r.Right, -1-to)
 					}
@@ -165,7 +160,7 @@ func TestDense(t *testing.T) {
 			isCycled(t, g, want)
 			for at, e := range links {
 				h := specimen.Copied(g)
-				h.Rules = append(h.Rules, rule(e, -1-links[n-1]))
+				h.Rules = append(h.Rules, specimen.Rule(e, -1-links[n-1]))
 				back := model{steps: slices.Clone(want.steps), cycles: setOf(links[at:]), endless: true, err: api.ErrCycle}
 				back.steps[e] |= 1 << links[n-1]
 				isCycled(t, h, back)
@@ -200,24 +195,24 @@ func TestWide(t *testing.T) {
 
 // wide is a grammar whose first rule has symbols of some kinds; nonterminal 1 is the shared one, which is nullable just if the Left isn't.
 func wide(kinds []int, empty bool) api.Grammar {
-	g := api.Grammar{Terms: specimen.Termed("A", "B"), Nons: specimen.Numbered("e", 2+len(kinds)), Rules: []api.Rule{rule(0), rule(0, 0), rule(1)}}
+	g := api.Grammar{Terms: specimen.Termed("A", "B"), Nons: specimen.Numbered("e", 2+len(kinds)), Rules: []api.Rule{specimen.Rule(0), specimen.Rule(0, 0), specimen.Rule(1)}}
 	if empty {
-		g.Rules[1], g.Rules[2] = rule(0), rule(1, 0)
+		g.Rules[1], g.Rules[2] = specimen.Rule(0), specimen.Rule(1, 0)
 	}
 	var right []int
 	for i, kind := range kinds {
 		own := 2 + i
 		right = append(right, []int{nullable: -1 - own, same: -1, full: -1 - own, term: 1, never: -1 - own, shared: -2}[kind])
-		r := rule(own, 0)
+		r := specimen.Rule(own, 0)
 		switch kind {
 		case nullable:
-			r = rule(own)
+			r = specimen.Rule(own)
 		case never:
-			r = rule(own, -1-own, 0)
+			r = specimen.Rule(own, -1-own, 0)
 		}
 		g.Rules = append(g.Rules, r)
 	}
-	g.Rules[0] = rule(0, right...)
+	g.Rules[0] = specimen.Rule(0, right...)
 	return g
 }
 

@@ -47,7 +47,7 @@ func everyRule(terms int) []api.Rule {
 	var l []api.Rule
 	for _, right := range rights {
 		for left := range 2 {
-			l = append(l, api.Rule{Left: left, Right: right, Prec: LastOf(right)})
+			l = append(l, Rule(left, right...))
 		}
 	}
 	return l

@@ -42,6 +42,11 @@ func LastOf(right []int) int {
 	return -1
 }
 
+// Rule is one of symbols, with the precedence that they give it.
+func Rule(left int, right ...int) api.Rule {
+	return api.Rule{Left: left, Right: right, Prec: LastOf(right)}
+}
+
 // NameOf is the name of a symbol that there is.
 func NameOf(g api.Grammar, sym int) string {
 	if sym < 0 {
