@@ -329,14 +329,6 @@ func TestLeftAsItWas(t *testing.T) {
 	}
 }
 
-// spoil writes into all that a list has room for.
-func spoil[T any](l []T, x T) {
-	l = l[:cap(l)]
-	for i := range l {
-		l[i] = x
-	}
-}
-
 // P13.1: what is answered is new memory: who writes into a list of it changes neither what was handed in nor another answer.
 func TestNewMemory(t *testing.T) {
 	for _, g := range kinds() {
@@ -344,8 +336,8 @@ func TestNewMemory(t *testing.T) {
 		steps, order := cycle.Steps(g), func() []int { l, _ := cycle.Order(g); return l }()
 		a, b := slices.Clone(steps), slices.Clone(order)
 		otherSteps, otherOrder := cycle.Steps(g), func() []int { l, _ := cycle.Order(g); return l }()
-		spoil(steps, 77)
-		spoil(order, 88)
+		specimen.Spoil(steps, 77)
+		specimen.Spoil(order, 88)
 		if !slices.Equal(otherSteps, a) || !slices.Equal(otherOrder, b) || !cfg.Same(g, was) {
 			t.Fatal(was, g, otherSteps, otherOrder)
 		}

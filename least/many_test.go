@@ -332,25 +332,12 @@ func drawn(seed, n int) []api.Grammar {
 		case 0:
 			l = append(l, d.Some(16))
 		case 1:
-			l = append(l, thin(&d, d.Some(16)))
+			l = append(l, d.Thin(d.Some(16)))
 		case 2:
 			l = append(l, climb(&d))
 		}
 	}
 	return l
-}
-
-// thin is a drawn grammar, with terminal 0 in the place of some nonterminals, if there is such a terminal.
-func thin(d *specimen.Drawer, g api.Grammar) api.Grammar {
-	for i, r := range g.Rules {
-		for at, sym := range r.Right {
-			if sym < 0 && len(g.Terms) > 0 && d.Below(2) == 0 {
-				r.Right[at] = 0
-			}
-		}
-		g.Rules[i] = specimen.Rule(r.Left, r.Right...)
-	}
-	return g
 }
 
 // climb is a drawn grammar of nonterminals in some order, each of which has two rules of up to six symbols, most of them nonterminals that come soon behind it; the last one's are terminals.
@@ -462,14 +449,6 @@ func TestLeftAsItWas(t *testing.T) {
 	}
 }
 
-// spoil writes into all that a list has room for.
-func spoil(l []int) {
-	l = l[:cap(l)]
-	for i := range l {
-		l[i] = 88
-	}
-}
-
 // P14.1: what is answered is new memory: who writes into a list of it changes neither what was handed in nor another answer, and the next answer is the same.
 func TestNewMemory(t *testing.T) {
 	for _, g := range kinds() {
@@ -484,13 +463,13 @@ func TestNewMemory(t *testing.T) {
 			tree, _ := least.Tree(g, g.Start)
 			word, _ := least.Word(g, syms)
 			again := slices.Clone(tree)
-			spoil(heights)
-			spoil(word)
+			specimen.Spoil(heights, 88)
+			specimen.Spoil(word, 88)
 			if !slices.Equal(rules, m.rules) || !slices.Equal(tree, again) {
 				t.Fatal(g, rules, tree)
 			}
-			spoil(rules)
-			spoil(tree)
+			specimen.Spoil(rules, 88)
+			specimen.Spoil(tree, 88)
 			if !cfg.Same(g, was) || !slices.Equal(syms, asked) {
 				t.Fatal(g, was, syms)
 			}

@@ -85,6 +85,20 @@ func (d *Drawer) Some(most int) api.Grammar {
 	return d.Grammar(d.Below(5), nons, rules, 1+d.Below(6))
 }
 
+// Thin is a grammar that may be, with terminal 0 in the place of some nonterminals, if there is such a terminal; each rule has the precedence that its symbols give it.
+func (d *Drawer) Thin(g api.Grammar) api.Grammar {
+	g = Copied(g)
+	for i, r := range g.Rules {
+		for at, sym := range r.Right {
+			if sym < 0 && len(g.Terms) > 0 && d.Below(2) == 0 {
+				r.Right[at] = 0
+			}
+		}
+		g.Rules[i] = Rule(r.Left, r.Right...)
+	}
+	return g
+}
+
 // Rising are the numbers below n.
 func Rising(n int) []int {
 	l := make([]int, n)

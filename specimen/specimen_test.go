@@ -27,6 +27,26 @@ func TestDrawn(t *testing.T) {
 	}
 }
 
+// A thin grammar may be, and has fewer nonterminals in its Rights, at the places of which terminal 0 stands; what it was made of is as it was.
+func TestThin(t *testing.T) {
+	d := specimen.Drawer(2)
+	for range 2000 {
+		g := d.Some(16)
+		was := specimen.Copied(g)
+		h := d.Thin(g)
+		if !cfg.Right(h) || !cfg.Same(g, was) || len(h.Rules) != len(g.Rules) {
+			t.Fatal(was, g, h)
+		}
+		for i, r := range h.Rules {
+			for at, sym := range r.Right {
+				if was := g.Rules[i].Right[at]; sym != was && (sym != 0 || was >= 0) {
+					t.Fatal(g, h)
+				}
+			}
+		}
+	}
+}
+
 // The small grammar may be; changed in any of the ways it may not.
 func TestChanges(t *testing.T) {
 	if !cfg.Right(specimen.Small()) {
@@ -100,6 +120,18 @@ func TestOrders(t *testing.T) {
 			}
 		}
 	}
+}
+
+// All that a list has room for is spoilt.
+func TestSpoil(t *testing.T) {
+	l := []int{1, 2, 3, 4}
+	if specimen.Spoil(l[1:2:3], 7); !slices.Equal(l, []int{1, 7, 7, 4}) {
+		t.Error(l)
+	}
+	if specimen.Spoil(l[:1], 8); !slices.Equal(l, []int{8, 8, 8, 8}) {
+		t.Error(l)
+	}
+	specimen.Spoil(nil, 9)
 }
 
 // A grammar with spare room is the same one; whatever is written into it, or into its room, is told.

@@ -450,14 +450,6 @@ func TestLeftAsItWas(t *testing.T) {
 	}
 }
 
-// spoil writes into all that a list has room for.
-func spoil[T any](l []T, x T) {
-	l = l[:cap(l)]
-	for i := range l {
-		l[i] = x
-	}
-}
-
 // P11.1: what is answered is new memory: who writes into a list of it changes neither what was handed in nor another list, and the next answer is the same.
 func TestNewMemory(t *testing.T) {
 	for _, g := range kinds() {
@@ -465,21 +457,21 @@ func TestNewMemory(t *testing.T) {
 		h, kept, _ := trim.Reduce(g)
 		want, numbers := specimen.Copied(h), slices.Clone(kept)
 		nullable, productive, reachable := trim.Nullable(g), trim.Productive(g), trim.Reachable(g)
-		spoil(nullable, true)
-		spoil(productive, false)
-		spoil(reachable, true)
+		specimen.Spoil(nullable, true)
+		specimen.Spoil(productive, false)
+		specimen.Spoil(reachable, true)
 		for i := range h.Rules {
 			fresh, l, _ := trim.Reduce(g)
-			spoil(fresh.Rules[i].Right, 77)
+			specimen.Spoil(fresh.Rules[i].Right, 77)
 			fresh.Rules[i].Right = h.Rules[i].Right
 			if !same(fresh, want) || !slices.Equal(l, numbers) || !same(g, was) {
 				t.Fatal(was, fresh, l)
 			}
 		}
-		spoil(kept, 88)
-		spoil(h.Terms, api.Term{Name: "spoilt"})
-		spoil(h.Nons, "spoilt")
-		spoil(h.Rules, api.Rule{Left: 99})
+		specimen.Spoil(kept, 88)
+		specimen.Spoil(h.Terms, api.Term{Name: "spoilt"})
+		specimen.Spoil(h.Nons, "spoilt")
+		specimen.Spoil(h.Rules, api.Rule{Left: 99})
 		if !same(g, was) {
 			t.Fatal(was, g)
 		}
