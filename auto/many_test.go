@@ -80,7 +80,7 @@ func isMany(t *testing.T, g api.Grammar, states int) {
 	}
 }
 
-// P15.1, P15.2: automata that double, of up to 16 nonterminals in rising, falling and other numbers: just so many states as they must have, 2^17 and more of the greatest one.
+// P15.1, P15.2: automata that double, of up to 16 nonterminals in rising, falling and other numbers: just so many states as they must have, more than 2^16 of the greatest one.
 func TestRemembering(t *testing.T) {
 	for n := 2; n <= 16; n++ {
 		for _, links := range specimen.Orders(n) {
