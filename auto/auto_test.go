@@ -14,31 +14,16 @@ import (
 	"gerund/trim"
 )
 
-// read is a text's grammar.
-func read(t *testing.T, text string) api.Grammar {
-	t.Helper()
-	g, at, e := cfg.Read([]byte(text))
-	if e != api.OK {
-		t.Fatalf("%q: %v %v", text, at, e)
-	}
-	return g
-}
-
-// farNumbers are such as nothing has, also if some of their bits are passed over.
-func farNumbers() []int {
-	return []int{math.MinInt, math.MinInt + 1, -1 << 32, -1<<32 - 1, -1<<32 + 1, math.MinInt32, -65536, -257, -256, -255, -99, 99, 254, 255, 256, 257, 65536, math.MaxInt32, 1<<32 - 1, 1 << 32, 1<<32 + 1, math.MaxInt - 1, math.MaxInt}
-}
-
 // items are all about those that a grammar has: of each rule, of rules about these, and far away.
 func items(g api.Grammar) []api.Item {
 	var l []api.Item
-	dots := append(farNumbers(), -3, -2, -1, 0, 1, 2, 3, 4, 5, 6, 7, 8, 9)
+	dots := append(specimen.Far(), -3, -2, -1, 0, 1, 2, 3, 4, 5, 6, 7, 8, 9)
 	for rule := -4; rule < len(g.Rules)+4; rule++ {
 		for _, dot := range dots {
 			l = append(l, api.Item{Rule: rule, Dot: dot})
 		}
 	}
-	for _, rule := range farNumbers() {
+	for _, rule := range specimen.Far() {
 		for dot := -1; dot < 8; dot++ {
 			l = append(l, api.Item{Rule: rule, Dot: dot})
 		}
@@ -205,7 +190,7 @@ type told struct {
 func isTold(t *testing.T, l []told) {
 	t.Helper()
 	for _, x := range l {
-		m := modelOf(read(t, x.text))
+		m := modelOf(specimen.Read(t, x.text))
 		a := isBuilt(t, m)
 		var states []string
 		for _, s := range a {
@@ -268,36 +253,10 @@ func TestToldStarts(t *testing.T) {
 	})
 }
 
-// notReduced are texts of grammars that may be and aren't reduced.
-func notReduced() []string {
-	return []string{
-		// The start isn't productive.
-		"%% s : s ;",
-		"%% s : s 'a' | t ; t : s ;",
-		"%% s : t ; t : 'a' t ;",
-		"%start t %% s : 'a' ; t : t s ;",
-		// Another one isn't productive: reachable but for that, or not.
-		"%% s : 'a' u | 'b' ; u : u 'c' ;",
-		"%% s : u | 'a' ; u : u ;",
-		"%% s : 'b' ; u : u ;",
-		"%start t %% u : u ; t : 'b' | u ;",
-		"%% s : s u s | ; u : s u ;",
-		// One isn't reachable: by none, by itself alone, by others that aren't, by a rule alone with one that isn't productive.
-		"%% s : 'a' ; t : 'b' ;",
-		"%start t %% s : 'a' ; t : 'b' ;",
-		"%start t %% s : t ; t : 'b' ;",
-		"%% s : ; t : s ;",
-		"%% s : 'a' ; t : t 'b' | 'b' ;",
-		"%% s : s 'a' | ; t : v ; v : t | 'b' | s ;",
-		"%% s : 'a' | t u ; t : 'b' ; u : u ;",
-		"%% s : 'a' | u t ; t : 'b' ; u : u s ;",
-	}
-}
-
 // P15.1: a grammar that may be and isn't reduced has items, and no automaton: ErrArg. Reduced, it has one, if its start is productive.
 func TestNotReduced(t *testing.T) {
-	for _, text := range notReduced() {
-		g := read(t, text)
+	for _, text := range specimen.NotReduced() {
+		g := specimen.Read(t, text)
 		m := modelOf(g)
 		for _, x := range items(g) {
 			isItem(t, m, x)
@@ -320,40 +279,27 @@ func TestNotReduced(t *testing.T) {
 	}
 }
 
-// usable is one like the small one, that is reduced.
-func usable() api.Grammar {
-	g := specimen.Small()
-	g.Start = 0
-	return g
-}
-
 // P15.1: a grammar that may not be, in each way, has no items, whichever are asked for, and no automaton.
 func TestMayNotBe(t *testing.T) {
-	m := modelOf(usable())
+	m := modelOf(specimen.Usable())
 	if isBuilt(t, m); m.err != api.OK {
 		t.Fatal(m)
 	}
-	isNothing(t, api.Grammar{})
-	for i, change := range specimen.Changes() {
-		for _, g := range []api.Grammar{specimen.Small(), usable()} {
-			if change(&g); cfg.Right(g) {
-				t.Fatal(i, g)
-			}
-			isNothing(t, g)
-		}
+	for _, g := range specimen.Wrong() {
+		isNothing(t, g)
 	}
 }
 
 // P15.1: told items, and the symbols behind their places, of all rules, of the start's, and of such as there aren't.
 func TestItems(t *testing.T) {
-	g := read(t, "%start t %% s : t 'a' s | ; t : 'b' | s 'c' ;")
+	g := specimen.Read(t, "%start t %% s : t 'a' s | ; t : 'b' | s 'c' ;")
 	m := modelOf(g)
 	for _, x := range []struct {
 		rule int
 		syms string
 	}{{-1, "t"}, {0, "t 'a' s"}, {1, ""}, {2, "'b'"}, {3, "s 'c'"}} {
 		syms := strings.Fields(x.syms)
-		for _, dot := range append(farNumbers(), -2, -1, 0, 1, 2, 3, 4, 5) {
+		for _, dot := range append(specimen.Far(), -2, -1, 0, 1, 2, 3, 4, 5) {
 			item := api.Item{Rule: x.rule, Dot: dot}
 			isItem(t, m, item)
 			sym, ok := auto.Next(g, item)
@@ -365,7 +311,7 @@ func TestItems(t *testing.T) {
 			}
 		}
 	}
-	for _, rule := range append(farNumbers(), -4, -3, -2, 4, 5, 6) {
+	for _, rule := range append(specimen.Far(), -4, -3, -2, 4, 5, 6) {
 		for dot := -1; dot < 5; dot++ {
 			item := api.Item{Rule: rule, Dot: dot}
 			if sym, ok := auto.Next(g, item); auto.Has(g, item) || ok || sym != 0 {
@@ -378,7 +324,7 @@ func TestItems(t *testing.T) {
 // P15.1: all items about those that there are, of the most rules, symbols, terminals and nonterminals that there may be, and of the fewest.
 func TestAllItems(t *testing.T) {
 	d := specimen.Drawer(15)
-	l := []api.Grammar{specimen.Small(), usable(), read(t, "%% s : ;"), d.Grammar(24, 16, 40, 6), d.Grammar(0, 1, 40, 6), d.Grammar(24, 16, 16, 6)}
+	l := []api.Grammar{specimen.Small(), specimen.Usable(), specimen.Read(t, "%% s : ;"), d.Grammar(24, 16, 40, 6), d.Grammar(0, 1, 40, 6), d.Grammar(24, 16, 16, 6)}
 	for _, nons := range []int{1, 16} {
 		g := api.Grammar{Terms: specimen.Termed(specimen.Numbered("T", 24)...), Nons: specimen.Numbered("e", nons), Start: nons - 1}
 		for i := range 40 {
@@ -397,7 +343,7 @@ func TestAllItems(t *testing.T) {
 
 // P15.1: told closures: of none, of items that aren't there, of the same ones again, out of order; over nonterminals that lead back to themselves, and over others; at the end, and ahead of terminals.
 func TestClosure(t *testing.T) {
-	g := read(t, "%start v %% s : t 'a' | 'b' t s | ; t : u t | u ; u : t 'c' | s ; v : 'd' s 'd' | v 'e' v ; w : w | x ; x : ;")
+	g := specimen.Read(t, "%start v %% s : t 'a' | 'b' t s | ; t : u t | u ; u : t 'c' | s ; v : 'd' s 'd' | v 'e' v ; w : w | x ; x : ;")
 	m := modelOf(g)
 	for _, x := range []struct {
 		items []api.Item
@@ -440,7 +386,7 @@ func TestClosure(t *testing.T) {
 
 // P15.1: very many items, of few that there are.
 func TestVeryManyItems(t *testing.T) {
-	g := read(t, "%% s : t 'a' | t ; t : u ; u : 'u' | ;")
+	g := specimen.Read(t, "%% s : t 'a' | t ; t : u ; u : 'u' | ;")
 	for _, x := range []struct {
 		items []api.Item
 		want  string

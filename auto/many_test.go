@@ -11,65 +11,6 @@ import (
 	"gerund/trim"
 )
 
-// remembering is a grammar whose states tell which of the last terminals of a word were B: of so many nonterminals behind the first one, links 1 to n, it has 2^(n+1) + 2n + 3 states. Link 0 goes on by A and B, or by B to link 1, each other one by A and B to the next one, and the last one ends. Its nonterminals are numbered in the order that is told.
-func remembering(links []int) api.Grammar {
-	g := api.Grammar{Terms: specimen.Termed("A", "B", "C"), Nons: specimen.Numbered("e", len(links)), Start: links[0]}
-	symbol := func(link int) int { return -1 - links[link] }
-	for e := range links {
-		switch link := slices.Index(links, e); link {
-		case 0:
-			g.Rules = append(g.Rules, specimen.Rule(e, 0, symbol(0)), specimen.Rule(e, 1, symbol(0)), specimen.Rule(e, 1, symbol(1)))
-		case len(links) - 1:
-			g.Rules = append(g.Rules, specimen.Rule(e, 0), specimen.Rule(e, 1))
-		default:
-			g.Rules = append(g.Rules, specimen.Rule(e, 0, symbol(link+1)), specimen.Rule(e, 1, symbol(link+1)))
-		}
-	}
-	return g
-}
-
-// remembered is how many states a remembering grammar has.
-func remembered(links int) int {
-	n := links - 1
-	return 1<<(n+1) + 2*n + 3
-}
-
-// lengthened is a grammar with so many states more: each symbol of a new rule of the start, C ahead, has one of its own; where it has more than six, nonterminals stand for what is behind, and the last state of all is the end of that.
-func lengthened(g api.Grammar, more int) api.Grammar {
-	g = specimen.Copied(g)
-	left := g.Start
-	for at := 0; at < more; at += 6 {
-		right := slices.Repeat([]int{0}, min(6, more-at))
-		if at == 0 {
-			right[0] = 2
-		}
-		if more-at > 6 {
-			right[5] = -1 - len(g.Nons)
-		}
-		g.Rules = append(g.Rules, specimen.Rule(left, right...))
-		if left = len(g.Nons); more-at > 6 {
-			g.Nons = append(g.Nons, "f"+g.Nons[left-1])
-		}
-	}
-	return g
-}
-
-// widened is a grammar with so many states more: each symbol of new rules of the start, ahead of each of which one more terminal stands, has one of its own. The rules stand ahead of the start's own ones, or behind all.
-func widened(g api.Grammar, more int, ahead bool) api.Grammar {
-	g = specimen.Copied(g)
-	for at := 0; at < more; at += 6 {
-		right := slices.Repeat([]int{0}, min(6, more-at))
-		right[0] = len(g.Terms)
-		g.Terms = append(g.Terms, specimen.Termed("D"+g.Terms[len(g.Terms)-1].Name)...)
-		r, to := specimen.Rule(g.Start, right...), len(g.Rules)
-		if ahead {
-			to = slices.IndexFunc(g.Rules, func(r api.Rule) bool { return r.Left == g.Start })
-		}
-		g.Rules = slices.Insert(g.Rules, to, r)
-	}
-	return g
-}
-
 // isMany holds a grammar to having just so many states, or too many.
 func isMany(t *testing.T, g api.Grammar, states int) {
 	t.Helper()
@@ -84,7 +25,7 @@ func isMany(t *testing.T, g api.Grammar, states int) {
 func TestRemembering(t *testing.T) {
 	for n := 2; n <= 16; n++ {
 		for _, links := range specimen.Orders(n) {
-			isMany(t, remembering(links), remembered(n))
+			isMany(t, specimen.Remembering(links), specimen.Remembered(n))
 		}
 	}
 }
@@ -92,16 +33,16 @@ func TestRemembering(t *testing.T) {
 // P15.1, P15.2: automata of just 300 states, of one more, and of some fewer and more, brought early, late, or at the very end.
 func TestMost(t *testing.T) {
 	for at, links := range specimen.Orders(8) {
-		g := remembering(links)
-		was := remembered(8)
+		g := specimen.Remembering(links)
+		was := specimen.Remembered(8)
 		for states := was; states <= 315; states++ {
 			if at > 1 && (states < 298 || states > 303) {
 				continue
 			}
-			isMany(t, lengthened(g, states-was), states)
-			isMany(t, widened(g, states-was, true), states)
-			isMany(t, widened(g, states-was, false), states)
-			isMany(t, widened(lengthened(g, 20), states-was, true), states+20)
+			isMany(t, specimen.Lengthened(g, states-was), states)
+			isMany(t, specimen.Widened(g, states-was, true), states)
+			isMany(t, specimen.Widened(g, states-was, false), states)
+			isMany(t, specimen.Widened(specimen.Lengthened(g, 20), states-was, true), states+20)
 		}
 	}
 }
@@ -109,7 +50,7 @@ func TestMost(t *testing.T) {
 // P15.1: a grammar that isn't reduced is ErrArg, also if it has too many states; reduced, ErrMany.
 func TestReasons(t *testing.T) {
 	for _, n := range []int{3, 8, 9, 15} {
-		g := remembering(specimen.Rising(n))
+		g := specimen.Remembering(specimen.Rising(n))
 		for _, r := range []api.Rule{specimen.Rule(n), specimen.Rule(n, 0, -1), specimen.Rule(n, -1-n)} {
 			h := specimen.Copied(g)
 			h.Nons, h.Rules = append(h.Nons, "u"), append(h.Rules, r)
@@ -121,7 +62,7 @@ func TestReasons(t *testing.T) {
 			if e != api.OK {
 				t.Fatal(n, r, e)
 			}
-			isMany(t, h, remembered(n))
+			isMany(t, h, specimen.Remembered(n))
 		}
 	}
 }
@@ -196,7 +137,7 @@ func TestChains(t *testing.T) {
 // P15.1: of a small grammar the closures of all sets of items that there are, in order and out of it.
 func TestAllClosures(t *testing.T) {
 	for _, text := range []string{"%% s : t s | 'a' ; t : s | ;", "%start t %% s : 'a' t s ; t : t 'a' | ;", "%% s : t u ; t : u | 'a' ; u : s | ;"} {
-		m := modelOf(read(t, text))
+		m := modelOf(specimen.Read(t, text))
 		for set := range 1 << len(m.places) {
 			var l []api.Item
 			for i, p := range m.places {
@@ -232,53 +173,6 @@ func TestAllSmall(t *testing.T) {
 	if built < 2000 {
 		t.Error(built)
 	}
-}
-
-// bent is a remembering grammar of up to 11 nonterminals, with a few symbols changed, and a few rules more, of the start.
-func bent(d *specimen.Drawer) api.Grammar {
-	g := remembering(d.Order(5 + d.Below(7)))
-	symbol := func() int { return d.Below(3+len(g.Nons)) - len(g.Nons) }
-	for range d.Below(4) {
-		r := &g.Rules[d.Below(len(g.Rules))]
-		right := slices.Clone(r.Right)
-		right[d.Below(len(right))] = symbol()
-		*r = specimen.Rule(r.Left, right...)
-	}
-	for range d.Below(4) {
-		right := make([]int, d.Below(7))
-		for i := range right {
-			right[i] = symbol()
-		}
-		g.Rules = append(g.Rules, specimen.Rule(g.Start, right...))
-	}
-	return g
-}
-
-// drawn are grammars of up to 16 nonterminals, most of them reduced: some with more terminals, some of up to 40 rules, some of many states.
-func drawn(seed, n int) []api.Grammar {
-	d := specimen.Drawer(seed)
-	var l []api.Grammar
-	for i := range n {
-		var g api.Grammar
-		switch i % 5 {
-		case 0:
-			g = d.Some(16)
-		case 1:
-			g = d.Thin(d.Some(6))
-		case 2:
-			g = d.Thin(d.Some(16))
-		case 3:
-			nons := 1 + d.Below(16)
-			g = d.Thin(d.Grammar(2+d.Below(3), nons, 40-d.Below(41-nons), 4+d.Below(3)))
-		case 4:
-			g = bent(&d)
-		}
-		if h, _, e := trim.Reduce(g); e == api.OK && i%11 > 0 {
-			g = h
-		}
-		l = append(l, g)
-	}
-	return l
 }
 
 // drawnItems are up to ten, a few of which aren't there, and some of which stand there again.
@@ -338,7 +232,7 @@ func TestDrawn(t *testing.T) {
 	d := specimen.Drawer(53)
 	errs := map[api.Errno]int{}
 	var great, wide, later int
-	for _, g := range drawn(15, 6000) {
+	for _, g := range specimen.Mixed(15, 6000) {
 		m := modelOf(g)
 		a := isBuilt(t, m)
 		for range 4 {
@@ -370,13 +264,8 @@ func TestDrawn(t *testing.T) {
 
 // kinds are grammars of all kinds: such as may be, and such as may not.
 func kinds() []api.Grammar {
-	l := []api.Grammar{{}, specimen.Small(), usable(), remembering(specimen.Rising(4)), remembering(specimen.Rising(16))}
-	for _, change := range specimen.Changes() {
-		g := usable()
-		change(&g)
-		l = append(l, g)
-	}
-	return append(l, drawn(33, 200)...)
+	l := append(specimen.Wrong(), specimen.Small(), specimen.Usable(), specimen.Remembering(specimen.Rising(4)), specimen.Remembering(specimen.Rising(16)))
+	return append(l, specimen.Mixed(33, 200)...)
 }
 
 // P15.1: grammars and items stay as they were, their spare room too, and are answered the same once more.

@@ -83,14 +83,14 @@ func TestWalk(t *testing.T) {
 // P15.1: first states that aren't there, below 0, just as many as there are, and far away; of no states none is.
 func TestNoState(t *testing.T) {
 	for _, a := range [][]api.State{nil, {}, {{}}, {{Edges: []api.Edge{{Sym: 0, To: 0}}}}, odd()} {
-		for _, from := range append(farNumbers(), -3, -2, -1, len(a), len(a)+1, len(a)+2) {
+		for _, from := range append(specimen.Far(), -3, -2, -1, len(a), len(a)+1, len(a)+2) {
 			for _, syms := range [][]int{nil, {}, {0}, {-1}, {5}, {5, 6}, {99}} {
 				if to, ok := auto.Walk(a, from, syms); ok || to != 0 {
 					t.Errorf("%v: %d %v: %d", a, from, syms, to)
 				}
 			}
 		}
-		for _, far := range farNumbers() {
+		for _, far := range specimen.Far() {
 			// A symbol is any number; so is what an edge leads to.
 			b := append(slices.Clone(a), api.State{Edges: []api.Edge{{Sym: far, To: len(a)}, {Sym: 1, To: far}, {Sym: 1, To: len(a)}}})
 			for _, syms := range [][]int{{far}, {far, far}, {1}, {far, 1}, {1, far}, {far, 1, far}} {

@@ -11,16 +11,6 @@ import (
 	"gerund/specimen"
 )
 
-// read is a text's grammar.
-func read(t *testing.T, text string) api.Grammar {
-	t.Helper()
-	g, at, e := cfg.Read([]byte(text))
-	if e != api.OK {
-		t.Fatalf("%q: %v %v", text, at, e)
-	}
-	return g
-}
-
 // isCycled holds what the calls answer of a grammar to what they must.
 func isCycled(t *testing.T, g api.Grammar, want model) {
 	t.Helper()
@@ -119,7 +109,7 @@ type told struct{ text, steps, cycles, order string }
 func isTold(t *testing.T, l []told) {
 	t.Helper()
 	for _, x := range l {
-		g := read(t, x.text)
+		g := specimen.Read(t, x.text)
 		want := toldOf(t, g, x.steps, x.cycles, x.order)
 		isCycled(t, g, want)
 		if m := modelOf(g); !slices.Equal(m.steps, want.steps) || m.cycles != want.cycles || m.endless != want.endless || !slices.Equal(m.order, want.order) || m.err != want.err {
@@ -283,7 +273,7 @@ func TestMayNotBe(t *testing.T) {
 
 // P13.1: what is of no use makes a grammar one that may not be, too.
 func TestMayNotBeUnused(t *testing.T) {
-	g := read(t, "%% s : 'a' ; t : t | s ;")
+	g := specimen.Read(t, "%% s : 'a' ; t : t | s ;")
 	isCycled(t, g, model{steps: []uint32{0, 3}, cycles: 2, order: []int{0}})
 	for _, change := range []func(*api.Grammar){
 		func(g *api.Grammar) { g.Nons[1] = "1" },
@@ -303,13 +293,7 @@ func TestMayNotBeUnused(t *testing.T) {
 
 // kinds are grammars of all kinds: such as may be, and such as may not.
 func kinds() []api.Grammar {
-	l := []api.Grammar{{}, specimen.Small()}
-	for _, change := range specimen.Changes() {
-		g := specimen.Small()
-		change(&g)
-		l = append(l, g)
-	}
-	return append(l, drawn(33, 400)...)
+	return slices.Concat(specimen.Wrong(), []api.Grammar{specimen.Small()}, drawn(33, 400))
 }
 
 // P13.1: grammars stay as they were, their spare room too, and are answered the same once more.

@@ -14,16 +14,6 @@ import (
 
 const all = 1<<32 - 1
 
-// read is a text's grammar.
-func read(t *testing.T, text string) api.Grammar {
-	t.Helper()
-	g, at, e := cfg.Read([]byte(text))
-	if e != api.OK {
-		t.Fatalf("%q: %v %v", text, at, e)
-	}
-	return g
-}
-
 // setOf is the set of literals of one letter each; $ is the end, - nothing.
 func setOf(t *testing.T, g api.Grammar, letters string) uint32 {
 	t.Helper()
@@ -179,7 +169,7 @@ func TestTold(t *testing.T) {
 		{"%token 'a' 'b' 'c' %% s : 'b' s | ;", "b", "$"},
 		{"%token 'a' 'b' %left 'c' %% s : 'b' n %prec 'a' | %prec 'c' ; n : s s ;", "b b", "b$ b$"},
 	} {
-		g := read(t, x.text)
+		g := specimen.Read(t, x.text)
 		isFirst(t, g, setsOf(t, g, x.first), setsOf(t, g, x.follow))
 		m := modelOf(g)
 		if !slices.Equal(m.first, setsOf(t, g, x.first)) || !slices.Equal(m.follow, setsOf(t, g, x.follow)) {
@@ -190,7 +180,7 @@ func TestTold(t *testing.T) {
 
 // P12.1, P12.2: FIRST of symbols and a rest, told: none, one, many.
 func TestOfTold(t *testing.T) {
-	g := read(t, "%% s : n m 'a' ; n : 'b' | ; m : 'c' | n ; t : 'd' m ; u : u 'e' ;")
+	g := specimen.Read(t, "%% s : n m 'a' ; n : 'b' | ; m : 'c' | n ; t : 'd' m ; u : u 'e' ;")
 	for _, x := range []struct {
 		syms, begins string
 		nullable     bool
@@ -228,7 +218,7 @@ func TestOfTold(t *testing.T) {
 
 // P12.1: very many symbols, up to what is no nullable one, or isn't there.
 func TestOfMany(t *testing.T) {
-	g := read(t, "%% s : n m 'a' ; n : 'b' | ; m : 'c' | n ;")
+	g := specimen.Read(t, "%% s : n m 'a' ; n : 'b' | ; m : 'c' | n ;")
 	for _, n := range []int{7, 32, 33, 64, 65, 1000, 100000} {
 		syms := slices.Repeat([]int{-2}, n)
 		for _, rest := range rests() {
@@ -246,7 +236,7 @@ func TestOfMany(t *testing.T) {
 
 // P12.1: symbols that aren't there, at whatever place: ahead of others, behind them, and behind a terminal too.
 func TestAbsent(t *testing.T) {
-	g := read(t, "%% s : n 'a' ; n : 'b' | ;")
+	g := specimen.Read(t, "%% s : n 'a' ; n : 'b' | ;")
 	there := [][]int{nil, {0}, {1}, {-1}, {-2}, {-2, -2}, {-2, 0}, {0, -2}, {-1, 1}, {-2, -1, 1}}
 	absent := []int{2, 3, 4, 23, 24, 25, 31, 32, 33, 63, 64, 65, -3, -4, -5, -16, -17, -18, -31, -32, -33, -64, -65, math.MaxInt, math.MinInt, math.MaxInt32, math.MinInt32, 1 << 32, 1<<32 + 1, 1<<32 - 1, 1<<32 - 2, -1 << 32, -1<<32 + 1, math.MinInt + 1, math.MaxInt - 1}
 	for _, sym := range absent {
@@ -265,7 +255,7 @@ func TestAbsent(t *testing.T) {
 			t.Error(x)
 		}
 	}
-	g = read(t, "%% s : ;")
+	g = specimen.Read(t, "%% s : ;")
 	if s := first.Of(g, []int{0}, all); s != 0 {
 		t.Errorf("%b", s)
 	}
@@ -522,13 +512,7 @@ func TestOfDrawn(t *testing.T) {
 
 // kinds are grammars of all kinds: such as may be, and such as may not.
 func kinds() []api.Grammar {
-	l := append(drawn(33, 300), api.Grammar{}, specimen.Small())
-	for _, change := range specimen.Changes() {
-		g := specimen.Small()
-		change(&g)
-		l = append(l, g)
-	}
-	return l
+	return slices.Concat(drawn(33, 300), []api.Grammar{specimen.Small()}, specimen.Wrong())
 }
 
 // P12.1: grammars and symbols stay as they were, their spare room too, and are answered the same once more.

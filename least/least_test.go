@@ -14,16 +14,6 @@ import (
 	"gerund/trim"
 )
 
-// read is a text's grammar.
-func read(t *testing.T, text string) api.Grammar {
-	t.Helper()
-	g, at, e := cfg.Read([]byte(text))
-	if e != api.OK {
-		t.Fatalf("%q: %v %v", text, at, e)
-	}
-	return g
-}
-
 // isLeast holds what the calls answer of a grammar to what they must, by the model; and to the chapter's words.
 func isLeast(t *testing.T, g api.Grammar, m model) {
 	t.Helper()
@@ -175,7 +165,7 @@ type told struct{ text, heights, rules, trees, words string }
 func isTold(t *testing.T, l []told) {
 	t.Helper()
 	for _, x := range l {
-		g := read(t, x.text)
+		g := specimen.Read(t, x.text)
 		m := modelOf(g)
 		if !slices.Equal(m.heights, numbersOf(t, x.heights)) || !slices.Equal(m.rules, numbersOf(t, x.rules)) {
 			t.Errorf("%q: the model: %v", x.text, m)
@@ -278,7 +268,7 @@ func TestToldUse(t *testing.T) {
 
 // P14.1: told sentences of symbols: none, terminals alone, nonterminals alone, both.
 func TestToldWords(t *testing.T) {
-	g := read(t, "%% s : t 'a' t ; t : 'b' 'c' | s ; n : ; u : u 'd' ; v : n t | u ;")
+	g := specimen.Read(t, "%% s : t 'a' t ; t : 'b' 'c' | s ; n : ; u : u 'd' ; v : n t | u ;")
 	for _, x := range []struct {
 		syms, word string
 		err        api.Errno
@@ -315,8 +305,8 @@ func TestToldWords(t *testing.T) {
 
 // P14.1: of Tree numbers that no nonterminal has: ErrArg, also of a grammar none of which is productive, or all of whose trees are too great.
 func TestNoNonterminal(t *testing.T) {
-	one, never, great := read(t, "%% s : ;"), read(t, "%% s : s ; t : t s ;"), steep(16, 0)
-	for _, g := range []api.Grammar{one, never, great, specimen.Small(), read(t, "%token A B C D %% s : A ;")} {
+	one, never, great := specimen.Read(t, "%% s : ;"), specimen.Read(t, "%% s : s ; t : t s ;"), steep(16, 0)
+	for _, g := range []api.Grammar{one, never, great, specimen.Small(), specimen.Read(t, "%token A B C D %% s : A ;")} {
 		n := len(g.Nons)
 		for _, at := range []int{-1, -2, -n, -n - 1, -16, -17, n, n + 1, 2 * n, n + 15, 99, 1 << 31, 1 << 32, 1<<32 + n - 1, -1 << 32, math.MaxInt, math.MaxInt - 1, math.MinInt, math.MinInt + 1} {
 			if at >= 0 && at < n {
@@ -336,7 +326,7 @@ func TestNoNonterminal(t *testing.T) {
 
 // P14.1: symbols that aren't there, on either side, are ErrArg at whatever place, also beside such as aren't productive, or too many; and these are ErrEmpty beside too many.
 func TestReasons(t *testing.T) {
-	g := read(t, "%% s : t 'a' ; t : 'b' | s ; n : ; u : u 'a' ;")
+	g := specimen.Read(t, "%% s : t 'a' ; t : 'b' | s ; n : ; u : u 'a' ;")
 	there := [][]int{nil, {0}, {1}, {-1}, {-2, -3}, {-4}, {-4, 0}, {1, -4}, {0, -1, -4}, slices.Repeat([]int{0}, 60), slices.Repeat([]int{1}, 61), slices.Repeat([]int{-3}, 300), slices.Repeat([]int{-3}, 301), slices.Repeat([]int{-1}, 400)}
 	absent := []int{2, 3, 4, 5, 23, 24, 25, 31, 32, 63, 64, -5, -6, -16, -17, -18, -32, -33, -64, -65, 1 << 32, 1<<32 + 1, 1<<32 - 1, 1<<32 - 2, -1 << 32, -1<<32 + 1, -1<<32 - 1, math.MaxInt, math.MaxInt - 1, math.MinInt, math.MinInt + 1, math.MaxInt32, math.MinInt32}
 	for _, ahead := range there {
@@ -354,7 +344,7 @@ func TestReasons(t *testing.T) {
 			}
 		}
 	}
-	if l, e := least.Word(read(t, "%% s : ;"), []int{0}); len(l) != 0 || e != api.ErrArg {
+	if l, e := least.Word(specimen.Read(t, "%% s : ;"), []int{0}); len(l) != 0 || e != api.ErrArg {
 		t.Error(l, e)
 	}
 }
@@ -403,7 +393,7 @@ func TestMayNotBe(t *testing.T) {
 
 // P14.1: what is of no use makes a grammar one that may not be, too.
 func TestMayNotBeUnused(t *testing.T) {
-	g := read(t, "%% s : 'a' ; t : t | s t ;")
+	g := specimen.Read(t, "%% s : 'a' ; t : t | s t ;")
 	isTold(t, []told{{"%% s : 'a' ; t : t | s t ;", "1 0", "0 -1", "0|!", "a|"}})
 	for _, change := range []func(*api.Grammar){
 		func(g *api.Grammar) { g.Nons[1] = "1" },

@@ -414,12 +414,7 @@ func TestDrawn(t *testing.T) {
 
 // kinds are grammars of all kinds: such as may be, and such as may not.
 func kinds() []api.Grammar {
-	l := []api.Grammar{{}, specimen.Small(), never(), great(), steep(16, 0), parts(), sized(300, 0)}
-	for _, change := range specimen.Changes() {
-		g := specimen.Small()
-		change(&g)
-		l = append(l, g)
-	}
+	l := append(specimen.Wrong(), specimen.Small(), never(), great(), steep(16, 0), parts(), sized(300, 0))
 	return append(l, drawn(33, 400)...)
 }
 

@@ -1,10 +1,11 @@
-// Package specimen is grammars to test with: drawn ones, and such as may not be. The tests of the layers above cfg share it; no layer calls it.
+// Package specimen is grammars to test with: drawn ones, such as have many states, and such as may not be, or aren't reduced. The tests of the layers above cfg share it; no layer calls it.
 package specimen
 
 import (
 	"slices"
 
 	"gerund/api"
+	"gerund/trim"
 )
 
 // Drawer is numbers that look like drawn ones.
@@ -97,6 +98,33 @@ func (d *Drawer) Thin(g api.Grammar) api.Grammar {
 		g.Rules[i] = Rule(r.Left, r.Right...)
 	}
 	return g
+}
+
+// Mixed are grammars of up to 16 nonterminals, most of them reduced: some with more terminals, some of up to 40 rules, some of many states.
+func Mixed(seed, n int) []api.Grammar {
+	d := Drawer(seed)
+	var l []api.Grammar
+	for i := range n {
+		var g api.Grammar
+		switch i % 5 {
+		case 0:
+			g = d.Some(16)
+		case 1:
+			g = d.Thin(d.Some(6))
+		case 2:
+			g = d.Thin(d.Some(16))
+		case 3:
+			nons := 1 + d.Below(16)
+			g = d.Thin(d.Grammar(2+d.Below(3), nons, 40-d.Below(41-nons), 4+d.Below(3)))
+		case 4:
+			g = d.Bent()
+		}
+		if h, _, e := trim.Reduce(g); e == api.OK && i%11 > 0 {
+			g = h
+		}
+		l = append(l, g)
+	}
+	return l
 }
 
 // Rising are the numbers below n.

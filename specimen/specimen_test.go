@@ -9,6 +9,7 @@ import (
 	"gerund/cfg"
 	"gerund/show"
 	"gerund/specimen"
+	"gerund/trim"
 )
 
 // Drawn grammars may be, with whatever is told.
@@ -47,15 +48,102 @@ func TestThin(t *testing.T) {
 	}
 }
 
-// The small grammar may be; changed in any of the ways it may not.
+// The small grammar may be, and isn't reduced; the usable one is; changed in any of the ways neither may be.
 func TestChanges(t *testing.T) {
-	if !cfg.Right(specimen.Small()) {
-		t.Fatal(specimen.Small())
+	if a, b := specimen.Small(), specimen.Usable(); !cfg.Right(a) || trim.Is(a) || !trim.Is(b) {
+		t.Fatal(a, b)
 	}
-	for i, change := range specimen.Changes() {
-		g := specimen.Small()
-		if change(&g); cfg.Right(g) {
+	l := specimen.Wrong()
+	if len(l) != 1+2*len(specimen.Changes()) {
+		t.Fatal(len(l))
+	}
+	for i, g := range l {
+		if cfg.Right(g) {
 			t.Error(i, g)
+		}
+	}
+}
+
+// What isn't reduced may be.
+func TestNotReduced(t *testing.T) {
+	for _, text := range specimen.NotReduced() {
+		if g := specimen.Read(t, text); !cfg.Right(g) || trim.Is(g) {
+			t.Error(text)
+		}
+	}
+}
+
+// ended is a test that tells whether it was ended.
+type ended bool
+
+func (*ended) Helper()                 {}
+func (e *ended) Fatalf(string, ...any) { *e = true }
+
+// A text's grammar is read, and no test ended; a text that has none ends it.
+func TestRead(t *testing.T) {
+	for text, end := range map[string]bool{"%% s : ;": false, "%token A %% s : A s | ;": false, "": true, "%% s : q ;": true} {
+		var e ended
+		if g := specimen.Read(&e, text); bool(e) != end || cfg.Right(g) == end {
+			t.Error(text, g, e)
+		}
+	}
+}
+
+// Grammars of many states are reduced, in whatever order their nonterminals stand, and whatever is added to them.
+func TestManyStates(t *testing.T) {
+	for n := 2; n <= 8; n++ {
+		for _, links := range specimen.Orders(n) {
+			g := specimen.Remembering(links)
+			was := specimen.Copied(g)
+			for more := range 40 {
+				for _, h := range []api.Grammar{specimen.Lengthened(g, more), specimen.Widened(g, more, true), specimen.Widened(g, more, false)} {
+					if !trim.Is(h) || len(h.Rules) != len(g.Rules)+(more+5)/6 || !cfg.Same(g, was) {
+						t.Fatal(g, more, h)
+					}
+				}
+			}
+		}
+	}
+}
+
+// Bent grammars may be; most of them are reduced.
+func TestBent(t *testing.T) {
+	d, reduced := specimen.Drawer(3), 0
+	for range 500 {
+		g := d.Bent()
+		if !cfg.Right(g) {
+			t.Fatal(g)
+		}
+		if trim.Is(g) {
+			reduced++
+		}
+	}
+	if reduced < 400 || reduced == 500 {
+		t.Error(reduced)
+	}
+}
+
+// Mixed grammars may be; most of them are reduced, and some not.
+func TestMixed(t *testing.T) {
+	reduced := 0
+	for _, g := range specimen.Mixed(4, 1000) {
+		if !cfg.Right(g) {
+			t.Fatal(g)
+		}
+		if trim.Is(g) {
+			reduced++
+		}
+	}
+	if reduced < 600 || reduced > 950 {
+		t.Error(reduced)
+	}
+}
+
+// Far numbers are far from those of anything that there is.
+func TestFar(t *testing.T) {
+	for _, n := range specimen.Far() {
+		if n > -99 && n < 99 {
+			t.Error(n)
 		}
 	}
 }

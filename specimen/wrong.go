@@ -17,6 +17,13 @@ func Small() api.Grammar {
 	}
 }
 
+// Usable is one like the small one, that is reduced.
+func Usable() api.Grammar {
+	g := Small()
+	g.Start = 0
+	return g
+}
+
 // wrongNames are neither names nor literals.
 func wrongNames() []string {
 	return []string{"", " ", "1", ".a", "%%", ";", "a b", "é", Long(21), "'", "''", "'ab'", `'\'`, "'\n'", `"a"`}
@@ -25,6 +32,18 @@ func wrongNames() []string {
 // Changes are what makes the small grammar one that may not be: each a way that chapter 9 names.
 func Changes() []func(*api.Grammar) {
 	return slices.Concat(changedNames(), changedLists(), changedNumbers())
+}
+
+// Wrong are grammars that may not be: one of nothing, and the small one and the usable one, changed in each of those ways.
+func Wrong() []api.Grammar {
+	l := make([]api.Grammar, 1)
+	for _, change := range Changes() {
+		for _, g := range []api.Grammar{Small(), Usable()} {
+			change(&g)
+			l = append(l, g)
+		}
+	}
+	return l
 }
 
 // changedNames are those of names, and of terminals' levels.
@@ -87,4 +106,35 @@ func changedNumbers() []func(*api.Grammar) {
 		l = append(l, func(g *api.Grammar) { g.Rules[0].Prec = n }, func(g *api.Grammar) { g.Rules[2].Prec = n }, func(g *api.Grammar) { g.Rules[3].Prec = n })
 	}
 	return l
+}
+
+// NotReduced are texts of grammars that may be and aren't reduced.
+func NotReduced() []string {
+	return []string{
+		// The start isn't productive.
+		"%% s : s ;",
+		"%% s : s 'a' | t ; t : s ;",
+		"%% s : t ; t : 'a' t ;",
+		"%start t %% s : 'a' ; t : t s ;",
+		// Another one isn't productive: reachable but for that, or not.
+		"%% s : 'a' u | 'b' ; u : u 'c' ;",
+		"%% s : u | 'a' ; u : u ;",
+		"%% s : 'b' ; u : u ;",
+		"%start t %% u : u ; t : 'b' | u ;",
+		"%% s : s u s | ; u : s u ;",
+		// One isn't reachable: by none, by itself alone, by others that aren't, by a rule alone with one that isn't productive.
+		"%% s : 'a' ; t : 'b' ;",
+		"%start t %% s : 'a' ; t : 'b' ;",
+		"%start t %% s : t ; t : 'b' ;",
+		"%% s : ; t : s ;",
+		"%% s : 'a' ; t : t 'b' | 'b' ;",
+		"%% s : s 'a' | ; t : v ; v : t | 'b' | s ;",
+		"%% s : 'a' | t u ; t : 'b' ; u : u ;",
+		"%% s : 'a' | u t ; t : 'b' ; u : u s ;",
+	}
+}
+
+// Far are numbers such as nothing has, also if some of their bits are passed over.
+func Far() []int {
+	return []int{math.MinInt, math.MinInt + 1, -1 << 32, -1<<32 - 1, -1<<32 + 1, math.MinInt32, -65536, -257, -256, -255, -99, 99, 254, 255, 256, 257, 65536, math.MaxInt32, 1<<32 - 1, 1 << 32, 1<<32 + 1, math.MaxInt - 1, math.MaxInt}
 }

@@ -10,16 +10,6 @@ import (
 	"gerund/trim"
 )
 
-// read is a text's grammar.
-func read(t *testing.T, text string) api.Grammar {
-	t.Helper()
-	g, at, e := cfg.Read([]byte(text))
-	if e != api.OK {
-		t.Fatalf("%q: %v %v", text, at, e)
-	}
-	return g
-}
-
 // isTrimmed holds what the calls answer of a grammar to what they must, and what was reduced to being so.
 func isTrimmed(t *testing.T, g api.Grammar, want model) {
 	t.Helper()
@@ -139,10 +129,10 @@ func TestTold(t *testing.T) {
 		{"%right A %left B %start f %% e : f e %prec B ; f : 'a' f f %prec A | 'a' %prec B ;", "00", "01", "01", []int{1, 2}, "%right A %left B %start f %% f : 'a' f f %prec A | 'a' %prec B ;"},
 		{"%% s : error t | error ; t : error t ;", "00", "10", "10", []int{1}, "%% s : error ;"},
 	} {
-		g := read(t, x.text)
+		g := specimen.Read(t, x.text)
 		want := model{nullable: flags(x.nullable), productive: flags(x.productive), reachable: flags(x.reachable), kept: x.kept, err: api.ErrEmpty}
 		if x.reduced != "" {
-			want.reduced, want.err = read(t, x.reduced), api.OK
+			want.reduced, want.err = specimen.Read(t, x.reduced), api.OK
 			want.is = same(g, want.reduced)
 		}
 		isTrimmed(t, g, want)
@@ -310,8 +300,8 @@ func TestMayNotBe(t *testing.T) {
 
 // P11.1, P11.2: a grammar that may not be, for what is of no use in it, is ErrArg, though it would be well without.
 func TestMayNotBeUnused(t *testing.T) {
-	g := read(t, "%% s : 'a' ; t : s u ; u : u ;")
-	isTrimmed(t, g, model{nullable: flags("000"), productive: flags("100"), reachable: flags("100"), reduced: read(t, "%% s : 'a' ;"), kept: []int{0}})
+	g := specimen.Read(t, "%% s : 'a' ; t : s u ; u : u ;")
+	isTrimmed(t, g, model{nullable: flags("000"), productive: flags("100"), reachable: flags("100"), reduced: specimen.Read(t, "%% s : 'a' ;"), kept: []int{0}})
 	for _, change := range []func(*api.Grammar){
 		func(g *api.Grammar) { g.Nons[2] = "1" },
 		func(g *api.Grammar) { g.Rules[1].Right[1] = -4 },
@@ -329,7 +319,7 @@ func TestMayNotBeUnused(t *testing.T) {
 
 // P11.1, P11.2: a grammar all of which is of use is reduced; with one thing more that isn't, or its nonterminals in an order in which they don't come, it isn't so, or may not be.
 func TestIs(t *testing.T) {
-	g := read(t, "%left A %% s : t A s | ; t : 'b' ; t : s 'c' ;")
+	g := specimen.Read(t, "%left A %% s : t A s | ; t : 'b' ; t : s 'c' ;")
 	for _, x := range []struct {
 		change func(*api.Grammar)
 		is     bool
@@ -420,12 +410,7 @@ func isPart(part, whole []string) bool {
 
 // kinds are grammars of all kinds: such as may be, and such as may not.
 func kinds() []api.Grammar {
-	l := []api.Grammar{{}, specimen.Small(), empty(), chain(specimen.Rising(16), specimen.Rising(16), 0)}
-	for _, change := range specimen.Changes() {
-		g := specimen.Small()
-		change(&g)
-		l = append(l, g)
-	}
+	l := append(specimen.Wrong(), specimen.Small(), empty(), chain(specimen.Rising(16), specimen.Rising(16), 0))
 	d := specimen.Drawer(33)
 	for range 400 {
 		l = append(l, d.Some(8))
