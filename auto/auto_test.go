@@ -180,51 +180,35 @@ func stateText(g api.Grammar, s api.State) string {
 	return text
 }
 
-// told is a grammar's text, and those of its states.
-type told struct {
-	text   string
-	states []string
-}
-
-// isTold holds grammars' automata, and the model's, to what is told.
-func isTold(t *testing.T, l []told) {
+// isTold holds grammars' automata, and the model's, to what is told: a text for each state.
+func isTold(t *testing.T, told map[string][]string) {
 	t.Helper()
-	for _, x := range l {
-		m := modelOf(specimen.Read(t, x.text))
-		a := isBuilt(t, m)
-		var states []string
-		for _, s := range a {
-			states = append(states, stateText(m.g, s))
-		}
-		if !slices.Equal(states, x.states) {
-			t.Errorf("%q: %q", x.text, states)
-		}
-	}
+	specimen.IsTold(t, told, func(g api.Grammar) []api.State { return isBuilt(t, modelOf(g)) }, stateText)
 }
 
 // P15.1, P15.2: told automata: edges by terminals ahead of those by nonterminals, kernels of several items, states that are come to from several.
 func TestTold(t *testing.T) {
-	isTold(t, []told{
+	isTold(t, map[string][]string{
 		// The chapter's example.
-		{"%% s : 'a' s | ;", []string{"-1.0 | 'a'>1 s>2", "0.1 | 'a'>1 s>3", "-1.1", "0.2"}},
+		"%% s : 'a' s | ;": {"-1.0 | 'a'>1 s>2", "0.1 | 'a'>1 s>3", "-1.1", "0.2"},
 		// No symbols; a terminal; the start alone; rules that are alike.
-		{"%% s : ;", []string{"-1.0 | s>1", "-1.1"}},
-		{"%% s : 'a' ;", []string{"-1.0 | 'a'>1 s>2", "0.1", "-1.1"}},
-		{"%% s : s | 'a' ;", []string{"-1.0 | 'a'>1 s>2", "1.1", "-1.1 0.1"}},
-		{"%% s : 'a' | 'a' | | ;", []string{"-1.0 | 'a'>1 s>2", "0.1 1.1", "-1.1"}},
+		"%% s : ;":               {"-1.0 | s>1", "-1.1"},
+		"%% s : 'a' ;":           {"-1.0 | 'a'>1 s>2", "0.1", "-1.1"},
+		"%% s : s | 'a' ;":       {"-1.0 | 'a'>1 s>2", "1.1", "-1.1 0.1"},
+		"%% s : 'a' | 'a' | | ;": {"-1.0 | 'a'>1 s>2", "0.1 1.1", "-1.1"},
 		// A rule twice in one kernel; an edge that leads back at once.
-		{"%% s : s s | 'a' ;", []string{"-1.0 | 'a'>1 s>2", "1.1", "-1.1 0.1 | 'a'>1 s>3", "0.1 0.2 | 'a'>1 s>3"}},
-		{"%% s : 'a' 'a' s 'a' | 'b' ;", []string{"-1.0 | 'a'>1 'b'>2 s>3", "0.1 | 'a'>4", "1.1", "-1.1", "0.2 | 'a'>1 'b'>2 s>5", "0.3 | 'a'>6", "0.4"}},
+		"%% s : s s | 'a' ;":           {"-1.0 | 'a'>1 s>2", "1.1", "-1.1 0.1 | 'a'>1 s>3", "0.1 0.2 | 'a'>1 s>3"},
+		"%% s : 'a' 'a' s 'a' | 'b' ;": {"-1.0 | 'a'>1 'b'>2 s>3", "0.1 | 'a'>4", "1.1", "-1.1", "0.2 | 'a'>1 'b'>2 s>5", "0.3 | 'a'>6", "0.4"},
 		// Terminals ahead of nonterminals, each by their numbers, wherever they stand in rules.
-		{"%% s : t 'b' | u 'a' | 'b' | 'a' ; t : ; u : ;", []string{"-1.0 | 'b'>1 'a'>2 s>3 t>4 u>5", "2.1", "3.1", "-1.1", "0.1 | 'b'>6", "1.1 | 'a'>7", "0.2", "1.2"}},
-		{"%% s : u t | 'a' ; t : s ; u : ;", []string{"-1.0 | 'a'>1 s>2 u>3", "1.1", "-1.1", "0.1 | 'a'>1 s>4 t>5 u>3", "2.1", "0.2"}},
-		{"%token C B A %% s : 'x' v u t | A | B | C ; t : ; u : ; v : u t | t ;", []string{"-1.0 | C>1 B>2 A>3 'x'>4 s>5", "3.1", "2.1", "1.1", "0.1 | t>6 u>7 v>8", "-1.1", "7.1", "6.1 | t>9", "0.2 | u>10", "6.2", "0.3 | t>11", "0.4"}},
+		"%% s : t 'b' | u 'a' | 'b' | 'a' ; t : ; u : ;":                        {"-1.0 | 'b'>1 'a'>2 s>3 t>4 u>5", "2.1", "3.1", "-1.1", "0.1 | 'b'>6", "1.1 | 'a'>7", "0.2", "1.2"},
+		"%% s : u t | 'a' ; t : s ; u : ;":                                      {"-1.0 | 'a'>1 s>2 u>3", "1.1", "-1.1", "0.1 | 'a'>1 s>4 t>5 u>3", "2.1", "0.2"},
+		"%token C B A %% s : 'x' v u t | A | B | C ; t : ; u : ; v : u t | t ;": {"-1.0 | C>1 B>2 A>3 'x'>4 s>5", "3.1", "2.1", "1.1", "0.1 | t>6 u>7 v>8", "-1.1", "7.1", "6.1 | t>9", "0.2 | u>10", "6.2", "0.3 | t>11", "0.4"},
 		// Rules without symbols, at the beginning, within, and at the end.
-		{"%% s : n s n 'a' | 'b' ; n : ;", []string{"-1.0 | 'b'>1 s>2 n>3", "1.1", "-1.1", "0.1 | 'b'>1 s>4 n>3", "0.2 | n>5", "0.3 | 'a'>6", "0.4"}},
-		{"%% s : n n n ; n : | 'a' ;", []string{"-1.0 | 'a'>1 s>2 n>3", "2.1", "-1.1", "0.1 | 'a'>1 n>4", "0.2 | 'a'>1 n>5", "0.3"}},
+		"%% s : n s n 'a' | 'b' ; n : ;": {"-1.0 | 'b'>1 s>2 n>3", "1.1", "-1.1", "0.1 | 'b'>1 s>4 n>3", "0.2 | n>5", "0.3 | 'a'>6", "0.4"},
+		"%% s : n n n ; n : | 'a' ;":     {"-1.0 | 'a'>1 s>2 n>3", "2.1", "-1.1", "0.1 | 'a'>1 n>4", "0.2 | 'a'>1 n>5", "0.3"},
 		// The same item in kernels alone, and with another one.
-		{"%% s : 'x' a 'p' | 'y' a 'q' | 'y' b ; a : 'z' ; b : 'z' ;", []string{"-1.0 | 'x'>1 'y'>2 s>3", "0.1 | 'z'>4 a>5", "1.1 2.1 | 'z'>6 a>7 b>8", "-1.1", "3.1", "0.2 | 'p'>9", "3.1 4.1", "1.2 | 'q'>10", "2.2", "0.3", "1.3"}},
-		{"%% e : e '+' t | t ; t : t '*' f | f ; f : '(' e ')' | 'n' ;", []string{
+		"%% s : 'x' a 'p' | 'y' a 'q' | 'y' b ; a : 'z' ; b : 'z' ;": {"-1.0 | 'x'>1 'y'>2 s>3", "0.1 | 'z'>4 a>5", "1.1 2.1 | 'z'>6 a>7 b>8", "-1.1", "3.1", "0.2 | 'p'>9", "3.1 4.1", "1.2 | 'q'>10", "2.2", "0.3", "1.3"},
+		"%% e : e '+' t | t ; t : t '*' f | f ; f : '(' e ')' | 'n' ;": {
 			"-1.0 | '('>1 'n'>2 e>3 t>4 f>5",
 			"4.1 | '('>1 'n'>2 e>6 t>4 f>5",
 			"5.1",
@@ -237,19 +221,19 @@ func TestTold(t *testing.T) {
 			"4.3",
 			"0.3 2.1 | '*'>8",
 			"2.3",
-		}},
+		},
 	})
 }
 
 // P15.1, P15.2: told automata of a start that isn't the first nonterminal, of terminals that no rule has, of levels and %prec, which count for nothing, and of rules of two digits.
 func TestToldStarts(t *testing.T) {
-	isTold(t, []told{
-		{"%start t %% s : 'a' ; t : s 'b' | s ;", []string{"-1.0 | 'a'>1 s>2 t>3", "0.1", "1.1 2.1 | 'b'>4", "-1.1", "1.2"}},
-		{"%start t %% s : t 'a' | 'b' ; t : s ;", []string{"-1.0 | 'b'>1 s>2 t>3", "1.1", "2.1", "-1.1 0.1 | 'a'>4", "0.2"}},
-		{"%start s %% s : t 'a' | 'b' ; t : s ;", []string{"-1.0 | 'b'>1 s>2 t>3", "1.1", "-1.1 2.1", "0.1 | 'a'>4", "0.2"}},
-		{"%start u %% s : u ; t : s ; u : 'a' t | ;", []string{"-1.0 | 'a'>1 u>2", "2.1 | 'a'>1 s>3 t>4 u>5", "-1.1", "1.1", "2.2", "0.1"}},
-		{"%token U %left '+' %nonassoc 'n' %% e : e '+' e %prec 'n' | 'n' ;", []string{"-1.0 | 'n'>1 e>2", "1.1", "-1.1 0.1 | '+'>3", "0.2 | 'n'>1 e>4", "0.1 0.3 | '+'>3"}},
-		{"%% s : 'a' s | error s | 'a' | 'a' | 'a' | 'a' | 'a' | 'a' | 'a' | 'a' | 'a' 'b' | 'a' | 'a' ;", []string{"-1.0 | 'a'>1 error>2 s>3", "0.1 2.1 3.1 4.1 5.1 6.1 7.1 8.1 9.1 10.1 11.1 12.1 | 'a'>1 error>2 'b'>4 s>5", "1.1 | 'a'>1 error>2 s>6", "-1.1", "10.2", "0.2", "1.2"}},
+	isTold(t, map[string][]string{
+		"%start t %% s : 'a' ; t : s 'b' | s ;":                                                          {"-1.0 | 'a'>1 s>2 t>3", "0.1", "1.1 2.1 | 'b'>4", "-1.1", "1.2"},
+		"%start t %% s : t 'a' | 'b' ; t : s ;":                                                          {"-1.0 | 'b'>1 s>2 t>3", "1.1", "2.1", "-1.1 0.1 | 'a'>4", "0.2"},
+		"%start s %% s : t 'a' | 'b' ; t : s ;":                                                          {"-1.0 | 'b'>1 s>2 t>3", "1.1", "-1.1 2.1", "0.1 | 'a'>4", "0.2"},
+		"%start u %% s : u ; t : s ; u : 'a' t | ;":                                                      {"-1.0 | 'a'>1 u>2", "2.1 | 'a'>1 s>3 t>4 u>5", "-1.1", "1.1", "2.2", "0.1"},
+		"%token U %left '+' %nonassoc 'n' %% e : e '+' e %prec 'n' | 'n' ;":                              {"-1.0 | 'n'>1 e>2", "1.1", "-1.1 0.1 | '+'>3", "0.2 | 'n'>1 e>4", "0.1 0.3 | '+'>3"},
+		"%% s : 'a' s | error s | 'a' | 'a' | 'a' | 'a' | 'a' | 'a' | 'a' | 'a' | 'a' 'b' | 'a' | 'a' ;": {"-1.0 | 'a'>1 error>2 s>3", "0.1 2.1 3.1 4.1 5.1 6.1 7.1 8.1 9.1 10.1 11.1 12.1 | 'a'>1 error>2 'b'>4 s>5", "1.1 | 'a'>1 error>2 s>6", "-1.1", "10.2", "0.2", "1.2"},
 	})
 }
 

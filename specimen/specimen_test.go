@@ -89,6 +89,35 @@ func TestRead(t *testing.T) {
 	}
 }
 
+// What is told of grammars and is so ends no test; where something else is so, of one of several too, it is ended.
+func TestIsTold(t *testing.T) {
+	const one, two = "%% s : ;", "%% s : t 'a' ; t : ;"
+	rights := func(g api.Grammar) [][]int { return [][]int{g.Rules[0].Right, {-1}} }
+	names := func(g api.Grammar, syms []int) string {
+		text := ""
+		for _, sym := range syms {
+			text += specimen.NameOf(g, sym)
+		}
+		return text
+	}
+	for _, x := range []struct {
+		told map[string][]string
+		end  bool
+	}{
+		{nil, false},
+		{map[string][]string{one: {"", "s"}, two: {"t'a'", "s"}}, false},
+		{map[string][]string{one: {"", "s"}, two: {"t'a'"}}, true},
+		{map[string][]string{one: {"", "s", ""}}, true},
+		{map[string][]string{one: {"s", ""}, two: {"t'a'", "s"}}, true},
+		{map[string][]string{one: nil}, true},
+	} {
+		var e ended
+		if specimen.IsTold(&e, x.told, rights, names); bool(e) != x.end {
+			t.Error(x.told, e)
+		}
+	}
+}
+
 // Grammars of many states are reduced, in whatever order their nonterminals stand, and whatever is added to them.
 func TestManyStates(t *testing.T) {
 	for n := 2; n <= 8; n++ {
