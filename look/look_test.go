@@ -11,7 +11,6 @@ import (
 	"gerund/first"
 	"gerund/look"
 	"gerund/specimen"
-	"gerund/trim"
 )
 
 // same: are they the same lookaheads?
@@ -172,38 +171,25 @@ func TestMayNotBe(t *testing.T) {
 
 // P16.1: a grammar that may be and isn't reduced has none either; reduced, it has some, if its start is productive.
 func TestNotReduced(t *testing.T) {
-	isRefused(t, specimen.Small(), api.ErrArg)
-	reduced := 0
-	for _, text := range specimen.NotReduced() {
-		g := specimen.Read(t, text)
+	l, reduced := specimen.Unreduced(t)
+	for _, g := range l {
 		isRefused(t, g, api.ErrArg)
-		if h, _, e := trim.Reduce(g); e == api.OK {
-			if l := isLooked(t, modelOf(h)); len(l) == 0 {
-				t.Error(text)
-			}
-			reduced++
-		}
 	}
-	if reduced == 0 || reduced == len(specimen.NotReduced()) {
-		t.Error(reduced)
+	for _, g := range reduced {
+		if l := isLooked(t, modelOf(g)); len(l) == 0 {
+			t.Error(g)
+		}
 	}
 }
 
 // P16.1: grammars of just 300 states have lookaheads, of one more none; where one isn't reduced either, that is told.
 func TestMost(t *testing.T) {
-	was := specimen.Remembered(8)
-	for _, links := range specimen.Orders(8) {
-		g := specimen.Remembering(links)
-		for states := 299; states <= 302; states++ {
-			for _, h := range []api.Grammar{specimen.Lengthened(g, states-was), specimen.Widened(g, states-was, true)} {
-				if states > 300 {
-					isRefused(t, h, api.ErrMany)
-				} else if l := isLooked(t, modelOf(h)); len(l) != states {
-					t.Fatal(len(l), states)
-				}
-				h.Nons, h.Rules = append(h.Nons, "u"), append(h.Rules, specimen.Rule(len(h.Nons), 0))
-				isRefused(t, h, api.ErrArg)
-			}
+	for states, g := range specimen.About300() {
+		if states > 300 {
+			isRefused(t, g, api.ErrMany)
+		} else if l := isLooked(t, modelOf(g)); len(l) != states {
+			t.Fatal(len(l), states)
 		}
+		isRefused(t, specimen.Useless(g), api.ErrArg)
 	}
 }

@@ -12,7 +12,6 @@ import (
 	"gerund/least"
 	"gerund/look"
 	"gerund/specimen"
-	"gerund/trim"
 )
 
 // from are the numbers from one on, and below another one.
@@ -284,25 +283,11 @@ func TestAllSmall(t *testing.T) {
 	}
 }
 
-// drawn are grammars of up to 16 nonterminals, most of them reduced: some of many states, some of up to 24 terminals.
-func drawn(seed, n int) []api.Grammar {
-	d, l := specimen.Drawer(seed), specimen.Mixed(seed, n/2)
-	for range n / 2 {
-		nons := 1 + d.Below(8)
-		g := d.Thin(d.Grammar(1+d.Below(24), nons, nons+d.Below(4*nons), 1+d.Below(4)))
-		if h, _, e := trim.Reduce(g); e == api.OK {
-			g = h
-		}
-		l = append(l, g)
-	}
-	return l
-}
-
 // P16.1, P16.2: drawn grammars, against models: of each kind some; some sets that have all that follows, and some that have less.
 func TestDrawn(t *testing.T) {
 	errs := map[api.Errno]int{}
 	var great, whole, part, together, late int
-	for _, g := range drawn(16, 5000) {
+	for _, g := range specimen.Varied(16, 5000) {
 		m := modelOf(g)
 		l := isLooked(t, m)
 		errs[m.err]++
@@ -332,49 +317,24 @@ func TestDrawn(t *testing.T) {
 	}
 }
 
-// A move of a parse that follows a tree: a terminal comes, or a rule is reduced.
-type move struct {
-	reduce bool
-	n      int
-}
-
-// moves are those of a drawn tree of a nonterminal, behind others; once there are so many, of the least ones.
-func moves(d *specimen.Drawer, g api.Grammar, n, most int, l []move) []move {
-	rule := least.Rules(g)[n]
-	for range 50 {
-		if other := d.Below(len(g.Rules)); len(l) < most && g.Rules[other].Left == n {
-			rule = other
-			break
-		}
-	}
-	for _, sym := range g.Rules[rule].Right {
-		if sym < 0 {
-			l = moves(d, g, -1-sym, most, l)
-		} else {
-			l = append(l, move{n: sym})
-		}
-	}
-	return append(l, move{reduce: true, n: rule})
-}
-
 // isParsed holds lookaheads to having, wherever a parse reduces a rule, what comes next; at last it stands behind the start.
-func isParsed(t *testing.T, m model, l [][]api.Look, moves []move) {
+func isParsed(t *testing.T, m model, l [][]api.Look, moves []specimen.Move) {
 	t.Helper()
 	var way []int
 	for i, x := range moves {
-		if !x.reduce {
-			way = append(way, x.n)
+		if !x.Reduce {
+			way = append(way, x.N)
 			continue
 		}
 		next := len(m.g.Terms)
-		if j := slices.IndexFunc(moves[i:], func(x move) bool { return !x.reduce }); j >= 0 {
-			next = moves[i+j].n
+		if j := slices.IndexFunc(moves[i:], func(x specimen.Move) bool { return !x.Reduce }); j >= 0 {
+			next = moves[i+j].N
 		}
 		at, ok := auto.Walk(m.states, 0, way)
-		if !ok || !slices.Contains(look.Rules(l[at], next), x.n) {
+		if !ok || !slices.Contains(look.Rules(l[at], next), x.N) {
 			t.Fatalf("%v: %v: %v %d: %v", m.g, moves, way, next, l)
 		}
-		r := m.g.Rules[x.n]
+		r := m.g.Rules[x.N]
 		way = append(way[:len(way)-len(r.Right)], -1-r.Left)
 	}
 	if !slices.Equal(way, []int{-1 - m.g.Start}) {
@@ -385,14 +345,14 @@ func isParsed(t *testing.T, m model, l [][]api.Look, moves []move) {
 // P16.1: drawn trees of drawn grammars, each with what a parse of its sentence sees at each of its rules.
 func TestParsed(t *testing.T) {
 	d, parsed := specimen.Drawer(163), 0
-	for _, g := range drawn(162, 1000) {
+	for _, g := range specimen.Varied(162, 1000) {
 		m := modelOf(g)
 		if _, e := least.Tree(g, g.Start); m.err != api.OK || e != api.OK {
 			continue
 		}
 		l := isLooked(t, m)
 		for range 5 {
-			if tree := moves(&d, g, g.Start, 30, nil); len(tree) < 2000 {
+			if tree := d.Moves(g, g.Start, 30); len(tree) < 2000 {
 				isParsed(t, m, l, tree)
 				parsed++
 			}
@@ -406,7 +366,7 @@ func TestParsed(t *testing.T) {
 // kinds are grammars of all kinds: such as may be, and such as may not.
 func kinds() []api.Grammar {
 	l := append(specimen.Wrong(), specimen.Small(), specimen.Usable(), specimen.Remembering(specimen.Rising(4)), specimen.Remembering(specimen.Rising(16)), listing(24))
-	return append(l, drawn(33, 200)...)
+	return append(l, specimen.Varied(33, 200)...)
 }
 
 // P16.1: grammars stay as they were, their spare room too, and are answered the same once more.

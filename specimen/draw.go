@@ -127,6 +127,20 @@ func Mixed(seed, n int) []api.Grammar {
 	return l
 }
 
+// Varied are mixed grammars, and as many of up to 8 nonterminals and up to 24 terminals, most of them reduced.
+func Varied(seed, n int) []api.Grammar {
+	d, l := Drawer(seed), Mixed(seed, n/2)
+	for range n / 2 {
+		nons := 1 + d.Below(8)
+		g := d.Thin(d.Grammar(1+d.Below(24), nons, nons+d.Below(4*nons), 1+d.Below(4)))
+		if h, _, e := trim.Reduce(g); e == api.OK {
+			g = h
+		}
+		l = append(l, g)
+	}
+	return l
+}
+
 // Rising are the numbers below n.
 func Rising(n int) []int {
 	l := make([]int, n)

@@ -6,7 +6,9 @@ import (
 	"testing"
 
 	"gerund/api"
+	"gerund/auto"
 	"gerund/cfg"
+	"gerund/least"
 	"gerund/show"
 	"gerund/specimen"
 	"gerund/trim"
@@ -64,12 +66,21 @@ func TestChanges(t *testing.T) {
 	}
 }
 
-// What isn't reduced may be.
-func TestNotReduced(t *testing.T) {
-	for _, text := range specimen.NotReduced() {
-		if g := specimen.Read(t, text); !cfg.Right(g) || trim.Is(g) {
-			t.Error(text)
+// What isn't reduced may be; of some of these nothing is of use, and what is of use of the others is reduced.
+func TestUnreduced(t *testing.T) {
+	l, reduced := specimen.Unreduced(t)
+	for _, g := range l {
+		if !cfg.Right(g) || trim.Is(g) {
+			t.Error(g)
 		}
+	}
+	for _, g := range reduced {
+		if !trim.Is(g) {
+			t.Error(g)
+		}
+	}
+	if len(l) != 1+len(specimen.NotReduced()) || len(reduced) == 0 || len(reduced) == len(l) {
+		t.Error(len(l), len(reduced))
 	}
 }
 
@@ -135,6 +146,34 @@ func TestManyStates(t *testing.T) {
 	}
 }
 
+// Grammars of about 300 states have just as many as is told, or too many; with a useless nonterminal they may be, and aren't reduced; whoever has enough ends it.
+func TestAbout300(t *testing.T) {
+	counts := map[int]int{}
+	for states, g := range specimen.About300() {
+		was := specimen.Copied(g)
+		a, e := auto.Build(g)
+		if states <= 300 && (e != api.OK || len(a) != states) || states > 300 && e != api.ErrMany {
+			t.Fatal(states, len(a), e)
+		}
+		if h := specimen.Useless(g); !cfg.Right(h) || trim.Is(h) || !cfg.Same(g, was) {
+			t.Fatal(g, h)
+		}
+		counts[states]++
+	}
+	if len(counts) != 4 || counts[300] != counts[301] || counts[299] != counts[302] || counts[300] < 10 {
+		t.Error(counts)
+	}
+	n := 0
+	for range specimen.About300() {
+		if n++; n == 4 {
+			break
+		}
+	}
+	if n != 4 {
+		t.Error(n)
+	}
+}
+
 // Bent grammars may be; most of them are reduced.
 func TestBent(t *testing.T) {
 	d, reduced := specimen.Drawer(3), 0
@@ -165,6 +204,71 @@ func TestMixed(t *testing.T) {
 	}
 	if reduced < 600 || reduced > 950 {
 		t.Error(reduced)
+	}
+}
+
+// Varied grammars may be; most of them are reduced, and some not; some have few terminals, and some many.
+func TestVaried(t *testing.T) {
+	reduced, many := 0, 0
+	l := specimen.Varied(5, 1000)
+	for _, g := range l {
+		if !cfg.Right(g) {
+			t.Fatal(g)
+		}
+		if trim.Is(g) {
+			reduced++
+		}
+		if len(g.Terms) > 12 {
+			many++
+		}
+	}
+	if len(l) != 1000 || reduced < 600 || reduced > 970 || many < 100 || many > 500 {
+		t.Error(len(l), reduced, many)
+	}
+}
+
+// The moves of a parse put terminals on one another, and rules' Lefts in the place of their Rights; at last the nonterminal stands there alone.
+func TestMoves(t *testing.T) {
+	d, short, long := specimen.Drawer(6), 0, 0
+	for _, g := range specimen.Varied(7, 500) {
+		if !trim.Is(g) {
+			continue
+		}
+		for n := range g.Nons {
+			if _, e := least.Tree(g, n); e != api.OK {
+				continue
+			}
+			moves := d.Moves(g, n, 20)
+			if isMoved(t, g, n, moves); len(moves) < 10 {
+				short++
+			} else {
+				long++
+			}
+		}
+	}
+	if short < 100 || long < 100 {
+		t.Error(short, long)
+	}
+}
+
+// isMoved holds the moves of a nonterminal to leading to it.
+func isMoved(t *testing.T, g api.Grammar, n int, moves []specimen.Move) {
+	t.Helper()
+	var way []int
+	for _, x := range moves {
+		if !x.Reduce {
+			way = append(way, x.N)
+			continue
+		}
+		r := g.Rules[x.N]
+		at := len(way) - len(r.Right)
+		if at < 0 || !slices.Equal(way[at:], r.Right) {
+			t.Fatal(g, n, moves)
+		}
+		way = append(way[:at], -1-r.Left)
+	}
+	if !slices.Equal(way, []int{-1 - n}) {
+		t.Fatal(g, n, moves, way)
 	}
 }
 

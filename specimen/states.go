@@ -1,6 +1,7 @@
 package specimen
 
 import (
+	"iter"
 	"slices"
 
 	"gerund/api"
@@ -62,6 +63,29 @@ func Widened(g api.Grammar, more int, ahead bool) api.Grammar {
 		}
 		g.Rules = slices.Insert(g.Rules, to, r)
 	}
+	return g
+}
+
+// About300 are grammars of 299 to 302 states, by how many they have.
+func About300() iter.Seq2[int, api.Grammar] {
+	return func(yield func(int, api.Grammar) bool) {
+		was := Remembered(8)
+		for _, links := range Orders(8) {
+			g := Remembering(links)
+			for states := 299; states <= 302; states++ {
+				if !yield(states, Lengthened(g, states-was)) || !yield(states, Widened(g, states-was, true)) {
+					return
+				}
+			}
+		}
+	}
+}
+
+// Useless is a grammar with one more nonterminal, which is in no Right.
+func Useless(g api.Grammar) api.Grammar {
+	g = Copied(g)
+	n := len(g.Nons)
+	g.Nons, g.Rules = append(g.Nons, "u"), append(g.Rules, Rule(n, 0))
 	return g
 }
 

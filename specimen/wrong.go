@@ -5,6 +5,7 @@ import (
 	"slices"
 
 	"gerund/api"
+	"gerund/trim"
 )
 
 // Small is a grammar that may be, of everything something, all of which is productive.
@@ -132,6 +133,22 @@ func NotReduced() []string {
 		"%% s : 'a' | t u ; t : 'b' ; u : u ;",
 		"%% s : 'a' | u t ; t : 'b' ; u : u s ;",
 	}
+}
+
+// Unreduced are grammars that may be and aren't reduced; and of these what is of use, where something is.
+func Unreduced(t Test) ([]api.Grammar, []api.Grammar) {
+	t.Helper()
+	l := []api.Grammar{Small()}
+	for _, text := range NotReduced() {
+		l = append(l, Read(t, text))
+	}
+	var reduced []api.Grammar
+	for _, g := range l {
+		if h, _, e := trim.Reduce(g); e == api.OK {
+			reduced = append(reduced, h)
+		}
+	}
+	return l, reduced
 }
 
 // Far are numbers such as nothing has, also if some of their bits are passed over.
