@@ -1,4 +1,4 @@
-// Package specimen is grammars to test with: drawn ones, such as have many states, and such as may not be, or aren't reduced. The tests of the layers above cfg share it; no layer calls it.
+// Package specimen is grammars to test with: drawn ones, such as have many states, and such as may not be, or aren't reduced; tables of any size; and what tells whether lists stayed as they were. The tests of the layers above cfg share it; no layer calls it.
 package specimen
 
 import (

@@ -86,11 +86,3 @@ func Spare(g api.Grammar) (api.Grammar, func() bool) {
 		return cfg.Same(now, was)
 	}
 }
-
-// Spoil writes into all that a list has room for.
-func Spoil[T any](l []T, x T) {
-	l = l[:cap(l)]
-	for i := range l {
-		l[i] = x
-	}
-}

@@ -281,6 +281,21 @@ func TestFar(t *testing.T) {
 	}
 }
 
+// The numbers about some others are there, with those about none, and far ones.
+func TestAbout(t *testing.T) {
+	for _, n := range []int{0, 5, 300} {
+		l := specimen.About(40, n)
+		for _, x := range []int{-2, -1, 0, 1, 2, 39, 40, 41, n - 1, n, n + 1} {
+			if !slices.Contains(l, x) {
+				t.Error(n, x, l)
+			}
+		}
+		if slices.Contains(l, 7) || slices.Contains(l, n+3) || len(l) != len(specimen.Far())+11 {
+			t.Error(n, l)
+		}
+	}
+}
+
 // Digits are gone through till all below the base were there.
 func TestCount(t *testing.T) {
 	for n := range 5 {
@@ -341,18 +356,6 @@ func TestOrders(t *testing.T) {
 			}
 		}
 	}
-}
-
-// All that a list has room for is spoilt.
-func TestSpoil(t *testing.T) {
-	l := []int{1, 2, 3, 4}
-	if specimen.Spoil(l[1:2:3], 7); !slices.Equal(l, []int{1, 7, 7, 4}) {
-		t.Error(l)
-	}
-	if specimen.Spoil(l[:1], 8); !slices.Equal(l, []int{8, 8, 8, 8}) {
-		t.Error(l)
-	}
-	specimen.Spoil(nil, 9)
 }
 
 // A grammar with spare room is the same one; whatever is written into it, or into its room, is told.

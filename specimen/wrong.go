@@ -155,3 +155,12 @@ func Unreduced(t Test) ([]api.Grammar, []api.Grammar) {
 func Far() []int {
 	return []int{math.MinInt, math.MinInt + 1, -1 << 32, -1<<32 - 1, -1<<32 + 1, math.MinInt32, -65536, -257, -256, -255, -99, 99, 254, 255, 256, 257, 65536, math.MaxInt32, 1<<32 - 1, 1 << 32, 1<<32 + 1, math.MaxInt - 1, math.MaxInt}
 }
+
+// About are the numbers about some others, and about none, and far away.
+func About(l ...int) []int {
+	all := append(Far(), -2, -1, 0, 1, 2)
+	for _, n := range l {
+		all = append(all, n-1, n, n+1)
+	}
+	return all
+}

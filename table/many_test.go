@@ -99,25 +99,11 @@ func TestLeftAsItWas(t *testing.T) {
 
 // P17.1: tables stay as they were, their spare room too.
 func TestTableLeftAsItWas(t *testing.T) {
-	cell, to := api.Cell{Kind: api.ActShift, N: 77}, 77
 	for _, g := range kinds() {
 		m := modelOf(g)
-		full := copied(m.table)
-		for n := range full.Actions {
-			full.Actions[n], full.Gotos[n] = append(full.Actions[n], cell), append(full.Gotos[n], to)
-		}
-		full.Actions, full.Gotos = append(full.Actions, []api.Cell{cell}), append(full.Gotos, []int{to})
-		was, states := copied(full), len(m.table.Actions)
-		given := api.Table{Actions: full.Actions[:states], Gotos: full.Gotos[:states]}
-		for n := range states {
-			given.Actions[n], given.Gotos[n] = given.Actions[n][:len(g.Terms)+1], given.Gotos[n][:len(g.Nons)]
-		}
-		isMay(t, g, given, m.err == api.OK)
-		for n := range states {
-			full.Actions[n], full.Gotos[n] = full.Actions[n][:len(g.Terms)+2], full.Gotos[n][:len(g.Nons)+1]
-		}
-		if !same(full, was) {
-			t.Fatal(g, full, was)
+		given, asWas := specimen.SpareTable(m.table)
+		if isMay(t, g, given, m.err == api.OK); !asWas() {
+			t.Fatal(g, given, m.table)
 		}
 	}
 }
@@ -133,13 +119,13 @@ func TestNewMemory(t *testing.T) {
 			u.Actions[n] = m.table.Actions[n]
 			specimen.Spoil(u.Gotos[n], 88)
 			u.Gotos[n] = m.table.Gotos[n]
-			if !same(u, m.table) {
+			if !specimen.SameTables(u, m.table) {
 				t.Fatal(was, n, u)
 			}
 		}
 		specimen.Spoil(u.Actions, nil)
 		specimen.Spoil(u.Gotos, nil)
-		if specimen.Spoil(c, api.Conflict{State: 88}); !same(other, m.table) || !slices.Equal(more, m.conflicts) || !cfg.Same(g, was) {
+		if specimen.Spoil(c, api.Conflict{State: 88}); !specimen.SameTables(other, m.table) || !slices.Equal(more, m.conflicts) || !cfg.Same(g, was) {
 			t.Fatal(was, g)
 		}
 		isBuilt(t, m)

@@ -10,26 +10,9 @@ import (
 	"gerund/table"
 )
 
-// blank is a table of so many states, in which nothing is done.
+// blank is a table of so many states, in which nothing is done, of the size that a grammar's has.
 func blank(g api.Grammar, states int) api.Table {
-	var u api.Table
-	for range states {
-		u.Actions = append(u.Actions, make([]api.Cell, len(g.Terms)+1))
-		u.Gotos = append(u.Gotos, slices.Repeat([]int{-1}, len(g.Nons)))
-	}
-	return u
-}
-
-// copied is the same table, that shares nothing with u.
-func copied(u api.Table) api.Table {
-	var c api.Table
-	for _, row := range u.Actions {
-		c.Actions = append(c.Actions, slices.Clone(row))
-	}
-	for _, row := range u.Gotos {
-		c.Gotos = append(c.Gotos, slices.Clone(row))
-	}
-	return c
+	return specimen.Blank(states, len(g.Terms), len(g.Nons))
 }
 
 // may: may a table be one of a grammar? All cells, and all numbers, that may stand in it are put down first.
@@ -119,15 +102,6 @@ func TestRightRows(t *testing.T) {
 	}
 }
 
-// about are the numbers about some others, and far away.
-func about(l ...int) []int {
-	all := append(specimen.Far(), -2, -1, 0, 1, 2)
-	for _, n := range l {
-		all = append(all, n-1, n, n+1)
-	}
-	return all
-}
-
 // P17.1: each kind of action, and kinds that there are none of, with each number that may stand with it, and with those about these: in the first cell, within, and in the last one, of the first state and of the last one.
 func TestRightCells(t *testing.T) {
 	for _, g := range sizes() {
@@ -136,7 +110,7 @@ func TestRightCells(t *testing.T) {
 			u := blank(g, states)
 			for _, at := range [][2]int{{0, 0}, {0, len(g.Terms)}, {states / 2, len(g.Terms) / 2}, {states - 1, 0}, {states - 1, len(g.Terms)}} {
 				x := &u.Actions[at[0]][at[1]]
-				for _, n := range about(states, rules) {
+				for _, n := range specimen.About(states, rules) {
 					for kind := -2; kind < 7; kind++ {
 						*x = api.Cell{Kind: kind, N: n}
 						want := kind == api.ActNone && n == 0 || kind == api.ActShift && n >= 0 && n < states || kind == api.ActReduce && n >= 0 && n < rules || kind == api.ActAccept && n == 0
@@ -161,7 +135,7 @@ func TestRightGotos(t *testing.T) {
 			u := blank(g, states)
 			for _, at := range [][2]int{{0, 0}, {0, len(g.Nons) - 1}, {states / 2, len(g.Nons) / 2}, {states - 1, 0}, {states - 1, len(g.Nons) - 1}} {
 				x := &u.Gotos[at[0]][at[1]]
-				for _, to := range about(states, len(g.Rules)) {
+				for _, to := range specimen.About(states, len(g.Rules)) {
 					*x = to
 					isMay(t, g, u, to >= -1 && to < states)
 				}
@@ -229,7 +203,7 @@ func TestRightWithoutTable(t *testing.T) {
 
 // changed is a table with one thing changed.
 func changed(d *specimen.Drawer, g api.Grammar, u api.Table) api.Table {
-	u = copied(u)
+	u = specimen.CopiedTable(u)
 	n := d.Below(len(u.Actions))
 	number := func() int { return d.Below(len(u.Actions)+12) - 6 }
 	switch d.Below(8) {
@@ -265,8 +239,8 @@ func TestRightDrawn(t *testing.T) {
 			}
 			want := may(g, x)
 			counts[want]++
-			given, was := specimen.Copied(g), copied(x)
-			if isMay(t, g, x, want); !same(x, was) || !cfg.Same(g, given) {
+			given, was := specimen.Copied(g), specimen.CopiedTable(x)
+			if isMay(t, g, x, want); !specimen.SameTables(x, was) || !cfg.Same(g, given) {
 				t.Fatal(g, x, was)
 			}
 		}

@@ -12,16 +12,11 @@ import (
 	"gerund/table"
 )
 
-// same: are they the same tables?
-func same(a, b api.Table) bool {
-	return slices.EqualFunc(a.Actions, b.Actions, slices.Equal[[]api.Cell]) && slices.EqualFunc(a.Gotos, b.Gotos, slices.Equal[[]int])
-}
-
 // isBuilt holds a grammar's table, and its conflicts, to what they must be: the model's; and such as the chapter says.
 func isBuilt(t *testing.T, m model) (api.Table, []api.Conflict) {
 	t.Helper()
 	u, c, e := table.Build(m.g)
-	if e != m.err || !same(u, m.table) || !slices.Equal(c, m.conflicts) {
+	if e != m.err || !specimen.SameTables(u, m.table) || !slices.Equal(c, m.conflicts) {
 		t.Fatalf("%v: %v %v %v, not %v %v %v", m.g, u, c, e, m.table, m.conflicts, m.err)
 	}
 	if e == api.OK {
